@@ -2,6 +2,7 @@ package descent
 
 import (
 	"reflect"
+	"strconv"
 	"testing"
 
 	"cooper/api"
@@ -186,5 +187,35 @@ func TestTheBest(t *testing.T) {
 	}
 	if some < 100 || none < 30 {
 		t.Error("too few were tried", some, none)
+	}
+}
+
+// TestGreatRecipe: as many packages, releases and values as may be are no matter, whether the best or the worst is what there is.
+func TestGreatRecipe(t *testing.T) {
+	for _, oldest := range []bool{false, true} {
+		var x api.Recipe
+		for i := range api.MaxPackages {
+			p := pack("p"+strconv.Itoa(i), "10", "9", "8", "7", "6", "5", "4", "3", "2", "1")
+			for _, name := range []string{"w", "x", "y", "z"} {
+				p.Variants = append(p.Variants, api.Variant{Name: name, Values: []string{"1", "2", "3", "4"}})
+			}
+			for k := i + 1; k < min(i+4, api.MaxPackages); k++ {
+				s := wish("p" + strconv.Itoa(k))
+				if oldest {
+					s.Spans = []api.Span{{Hi: "1"}}
+					s.Settings = []api.Setting{{Name: "x", Value: "3"}}
+				}
+				p.Depends = append(p.Depends, on(s)...)
+			}
+			x.Packages = append(x.Packages, p)
+		}
+		f := best(t, x, ask("p0"))
+		want := api.Cost{0, 0, 0, 0, 0, 24}
+		if oldest {
+			want = api.Cost{0, 0, 23, 0, 9 * 23, 24}
+		}
+		if f.State != api.Sat || f.Cost != want {
+			t.Error(f.State, f.Cost)
+		}
 	}
 }
