@@ -148,6 +148,9 @@ func TestMeetIsSoJustIf(t *testing.T) {
 		d := testkit.New(seed)
 		x := testkit.Recipe(d, 1)
 		x.Packages[0].Depends, x.Packages[0].Conflicts = nil, nil
+		if seed%4 == 0 {
+			x.Packages[0].Releases = append(x.Packages[0].Releases, api.Release{Version: "no version"})
+		}
 		other := testkit.Recipe(d, 1)
 		q := ask("a")
 		g := ground(x, q, 1000)
