@@ -142,16 +142,56 @@ func TestLimit(t *testing.T) {
 	}
 }
 
-func TestMemory(t *testing.T) {
-	x, q := recipe(), ask("b")
+// scramble changes all that lists hold.
+func scramble(v reflect.Value) {
+	switch v.Kind() {
+	case reflect.Struct:
+		for i := range v.NumField() {
+			scramble(v.Field(i))
+		}
+	case reflect.Slice:
+		for i := range v.Len() {
+			scramble(v.Index(i))
+		}
+	case reflect.String:
+		v.SetString("changed")
+	case reflect.Int:
+		v.SetInt(99)
+	case reflect.Bool:
+		v.SetBool(!v.Bool())
+	}
+}
+
+// full is a recipe in which each list has something.
+func full() api.Recipe {
+	x := recipe()
+	for i := range x.Packages {
+		p := &x.Packages[i]
+		some := []api.Setting{{Name: "x", Value: "on"}}
+		p.Files, p.Provides = []string{"f"}, []string{"v"}
+		p.Variants = append(p.Variants, api.Variant{Name: "x", Values: []string{"on"}})
+		p.Depends = append(p.Depends, api.Depend{On: api.Spec{Name: "d", Spans: testkit.All(), Settings: some}, When: api.Spec{Spans: testkit.All(), Settings: some}})
+		p.Conflicts = append(p.Conflicts, api.Conflict{When: api.Spec{Spans: testkit.All(), Settings: some}, With: api.Spec{Name: "d", Spans: testkit.All(), Settings: some}})
+	}
+	x.Prefers = []api.Prefer{{Virtual: "v", Names: []string{"d"}}}
+	return x
+}
+
+func TestCopies(t *testing.T) {
+	x, q := full(), ask("b")
 	g := New(x, q, 100)
-	x.Packages[1].Releases[0].Version = "changed"
-	x.Packages[1].Depends[0].On.Spans[0].Lo = "7"
-	q.Roots[0].Spec.Name = "changed"
-	again := g.Recipe()
-	again.Packages[1].Variants[0].Values[0] = "changed"
-	again.Packages[3].Provides[0] = "changed"
-	g.Request().Roots[0].Spec.Spans[0].Hi = "1"
+	scramble(reflect.ValueOf(&x).Elem())
+	scramble(reflect.ValueOf(&q).Elem())
+	again, asked := g.Recipe(), g.Request()
+	scramble(reflect.ValueOf(&again).Elem())
+	scramble(reflect.ValueOf(&asked).Elem())
+	if !reflect.DeepEqual(g.Recipe(), full()) || !reflect.DeepEqual(g.Request(), ask("b")) {
+		t.Error("a ground keeps what it has to itself")
+	}
+}
+
+func TestMemory(t *testing.T) {
+	g := New(recipe(), ask("b"), 100)
 	g.Places()[0] = 9
 	g.Rules()[0].Line = 99
 	if !reflect.DeepEqual(g.Recipe(), recipe()) || !reflect.DeepEqual(g.Request(), ask("b")) || g.Places()[0] != 1 || g.Rules()[0].Line != 20 {

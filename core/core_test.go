@@ -9,6 +9,7 @@ import (
 	"cooper/api"
 	"cooper/formula"
 	"cooper/rup"
+	"cooper/solve"
 	"cooper/testkit"
 )
 
@@ -144,6 +145,41 @@ func TestBudget(t *testing.T) {
 	}
 	if spent == 0 {
 		t.Error("none was spent")
+	}
+}
+
+// TestBudgetIsForAllTogether finds, with a solver of its own, how many conflicts are met in all.
+func TestBudgetIsForAllTogether(t *testing.T) {
+	tried := 0
+	for seed := range 600 {
+		d := testkit.New(seed)
+		x := testkit.Recipe(d, 6)
+		q := testkit.Request(d, x)
+		f, _ := formula.Build(x, q, great)
+		s := solve.New(f.Atoms(), f.Clauses())
+		a := s.Solve(f.Assume(nil), great)
+		first, all := a.Conflicts, a.Conflicts
+		for i := len(a.Core) - 1; i >= 0 && a.State == api.Unsat; i-- {
+			b := s.Solve(slices.Delete(slices.Clone(a.Core), i, i+1), great)
+			all += b.Conflicts
+			if b.State == api.Unsat {
+				behind := len(a.Core) - 1 - i
+				a, i = b, len(b.Core)-behind
+			}
+		}
+		if a.State != api.Unsat || first == all {
+			continue
+		}
+		tried++
+		if r, _ := Why(x, q, great, all); r.State != api.Unsat {
+			t.Fatal(seed, "is enough", all)
+		}
+		if r, _ := Why(x, q, great, all-1); !reflect.DeepEqual(r, api.Reason{State: api.Spent}) {
+			t.Fatal(seed, "is too little", all-1)
+		}
+	}
+	if tried < 5 {
+		t.Error("too few were tried", tried)
 	}
 }
 

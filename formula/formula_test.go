@@ -141,6 +141,9 @@ func TestRead(t *testing.T) {
 	if g := f.Read(nil); len(g.Nodes) != 0 {
 		t.Error(g)
 	}
+	if n := f.Number(api.Atom{Kind: api.NodeAtom}); len(f.Read(model[:n]).Nodes) != 1 || len(f.Read(model[:n-1]).Nodes) != 0 {
+		t.Error("a model may tell of the first atoms alone")
+	}
 	if g := f.Read(append(model, true, true)); len(g.Nodes) != 3 {
 		t.Error(g)
 	}

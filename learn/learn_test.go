@@ -144,6 +144,23 @@ func TestReasonsThatAreMissing(t *testing.T) {
 	}
 }
 
+// TestReasonsThatAreNone: of a clause in which another literal is open, or became not so behind it, nothing follows.
+func TestReasonsThatAreNone(t *testing.T) {
+	tr := trail(5, []int{2, 5}, []int{-1, -2}, []int{2, 3}, []int{-1, -3})
+	tr.Decide(1)
+	tr.Set(2, 0)
+	if l, ok := From(tr, 1); ok || !same(l, Lesson{}) {
+		t.Error("one is open", l)
+	}
+	tr.Back(0)
+	tr.Decide(1)
+	tr.Set(2, 2)
+	tr.Set(-3, -1)
+	if l, ok := From(tr, 1); ok || !same(l, Lesson{}) {
+		t.Error("one stands behind", l)
+	}
+}
+
 // TestReasonsInACircle: what was set with reasons that are none lets no call run on.
 func TestReasonsInACircle(t *testing.T) {
 	tr := trail(4, []int{1, -2}, []int{2, -1}, []int{-1, -2, -3}, []int{3, -4}, []int{4, -3})

@@ -38,6 +38,8 @@ func TestFollows(t *testing.T) {
 		{[][]int{{3, 3}}, []int{3}, true},
 		{[][]int{{1}}, []int{math.MinInt}, false},
 		{[][]int{{1}, {-1}}, []int{4}, false},
+		{[][]int{{1}, {-1}}, []int{-4}, false},
+		{[][]int{{-4}, {4}}, nil, false},
 	} {
 		if Follows(3, c.clauses, c.clause) != c.want {
 			t.Error(i, c)
@@ -72,6 +74,8 @@ func TestCheck(t *testing.T) {
 		{[]api.Step{add(1), add(), gone(), gone()}, 3},
 		{[]api.Step{add(1), add(1), gone(1), add(), gone(), gone(1), add()}, 6},
 		{[]api.Step{add(), gone(7)}, 0},
+		{[]api.Step{add(-5)}, 0},
+		{[]api.Step{gone(-5)}, 0},
 	} {
 		if got := Check(4, clauses, c.proof); got != c.want {
 			t.Error(i, got, c.want)
@@ -85,6 +89,12 @@ func TestEmptyClauseAmongOthers(t *testing.T) {
 	}
 	if Check(1, [][]int{{}, {}}, []api.Step{gone(), add(1), gone(), gone()}) != 3 {
 		t.Error("of two one is left")
+	}
+}
+
+func TestClausesOfLikeDigits(t *testing.T) {
+	if Check(21, [][]int{{2, 1}, {12}, {-1, 2}}, []api.Step{gone(21)}) != 0 || Check(21, [][]int{{12}, {1, -2}}, []api.Step{gone(1, 2)}) != 0 || Check(21, [][]int{{1, 12}}, []api.Step{gone(11, 2)}) != 0 {
+		t.Error("another clause isn't there")
 	}
 }
 

@@ -192,6 +192,9 @@ func TestBudget(t *testing.T) {
 		if a.State != api.Spent || a.Conflicts != want || len(a.Model) != 0 || len(a.Core) != 0 {
 			t.Error(budget, a)
 		}
+		if a := s.Solve(nil, 3); a.State != api.Spent || a.Conflicts != 4 {
+			t.Error("conflicts are those of one call", a)
+		}
 		if a := s.Solve(nil, math.MaxInt); a.State != api.Unsat {
 			t.Error("it may go on", a)
 		}
@@ -227,6 +230,9 @@ func TestLiteralsOfNone(t *testing.T) {
 			t.Error(l, a)
 		}
 	}
+	if a := s.Solve([]int{7, 8, 1}, much); a.State != api.Unsat || !slices.Equal(a.Core, []int{7}) {
+		t.Error("the first such one", a)
+	}
 	for _, c := range [][]int{{3}, {0}, {1, -1}, {-3, 1}, {math.MinInt}} {
 		if s.Add(c) {
 			t.Error(c, "is left out")
@@ -237,6 +243,21 @@ func TestLiteralsOfNone(t *testing.T) {
 	}
 	if !s.Add(nil) || s.Solve(nil, much).State != api.Unsat || len(s.Proof()) != steps+1 || s.Solve(nil, much).State != api.Unsat || len(s.Proof()) != steps+1 {
 		t.Error("the empty clause is one")
+	}
+}
+
+// TestAsItWasLast: an atom is not so at first, and then as it was last.
+func TestAsItWasLast(t *testing.T) {
+	s := New(4, nil)
+	for _, c := range []struct {
+		assume []int
+		model  []bool
+	}{
+		{nil, make([]bool, 4)}, {[]int{2, 4}, []bool{false, true, false, true}}, {nil, []bool{false, true, false, true}}, {[]int{-4, 1}, []bool{true, true, false, false}}, {nil, []bool{true, true, false, false}},
+	} {
+		if a := s.Solve(c.assume, 0); a.State != api.Sat || !slices.Equal(a.Model, c.model) {
+			t.Error(c, a)
+		}
 	}
 }
 

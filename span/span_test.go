@@ -125,6 +125,11 @@ func TestOfSpansThatMayNotBe(t *testing.T) {
 		if m, ok := Meet(all, s); ok || m != all {
 			t.Error(s, m)
 		}
+		for _, b := range legal() {
+			if m, ok := Meet(s, b); ok || m != all || Joins(b, s) || Join(s, b) != all || Join(b, s) != all {
+				t.Error(s, b, m)
+			}
+		}
 		if Joins(s, s) || Join(s, span("1", "2")) != all || Join(span("1", "2"), s) != all || Text(s) != "" || Within(s, s) || Within(s, all) || Within(all, s) {
 			t.Error(s)
 		}
