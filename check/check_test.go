@@ -9,20 +9,14 @@ import (
 	"cooper/testkit"
 )
 
-func set(name, value string) api.Setting { return api.Setting{Name: name, Value: value} }
-
-func wish(name string, settings ...api.Setting) api.Spec {
-	return api.Spec{Name: name, Spans: testkit.All(), Settings: settings}
-}
-
 // good is a recipe without a problem: a (1, 2; x), b and c, that provide v.
 func good() api.Recipe {
 	return api.Recipe{
 		Packages: []api.Package{
 			{
 				Name: "a", Line: 1, Releases: []api.Release{{Version: "1"}, {Version: "2"}}, Variants: []api.Variant{{Name: "x", Values: []string{"on", "off"}}},
-				Depends:   []api.Depend{{On: wish("b", set("y", "1")), When: wish("", set("x", "on")), Line: 2}, {On: wish("v"), When: wish(""), Line: 3}},
-				Conflicts: []api.Conflict{{When: wish("", set("x", "off")), Line: 4}, {When: wish(""), With: wish("c"), Line: 5}},
+				Depends:   []api.Depend{{On: testkit.Wish("b", testkit.Set("y", "1")), When: testkit.Wish("", testkit.Set("x", "on")), Line: 2}, {On: testkit.Wish("v"), When: testkit.Wish(""), Line: 3}},
+				Conflicts: []api.Conflict{{When: testkit.Wish("", testkit.Set("x", "off")), Line: 4}, {When: testkit.Wish(""), With: testkit.Wish("c"), Line: 5}},
 				Files:     []string{"f"},
 			},
 			{Name: "b", Line: 6, Releases: []api.Release{{Version: "1"}}, Variants: []api.Variant{{Name: "y", Values: []string{"1", "2"}}}, Provides: []string{"v", "w"}, Files: []string{"f"}},
@@ -97,19 +91,19 @@ func TestRecipe(t *testing.T) {
 		{func(x *api.Recipe) { x.Packages[0].Depends[0].On.Settings[0].Name = "x" }, api.Problem{Code: api.BadSetting, Line: 2}},
 		{func(x *api.Recipe) { x.Packages[0].Depends[1].On.Spans = []api.Span{{Lo: "1"}} }, api.Problem{Code: api.BadVirtual, Line: 3}},
 		{func(x *api.Recipe) { x.Packages[0].Depends[1].On.Spans = nil }, api.Problem{Code: api.BadVirtual, Line: 3}},
-		{func(x *api.Recipe) { x.Packages[0].Depends[1].On.Settings = []api.Setting{set("y", "1")} }, api.Problem{Code: api.BadVirtual, Line: 3}},
+		{func(x *api.Recipe) { x.Packages[0].Depends[1].On.Settings = []api.Setting{testkit.Set("y", "1")} }, api.Problem{Code: api.BadVirtual, Line: 3}},
 		{func(x *api.Recipe) {
 			x.Packages[0].Depends[0].On.Name = "a"
 			x.Packages[0].Depends[0].On.Settings = nil
 		}, api.Problem{}},
 		{func(x *api.Recipe) { x.Packages[0].Depends[0].When.Settings[0].Value = "1" }, api.Problem{Code: api.BadSetting, Line: 2}},
-		{func(x *api.Recipe) { x.Packages[0].Depends[1].When.Settings = []api.Setting{set("y", "1")} }, api.Problem{Code: api.BadSetting, Line: 3}},
+		{func(x *api.Recipe) { x.Packages[0].Depends[1].When.Settings = []api.Setting{testkit.Set("y", "1")} }, api.Problem{Code: api.BadSetting, Line: 3}},
 		{func(x *api.Recipe) { x.Packages[0].Conflicts[0].When.Settings[0].Name = "y" }, api.Problem{Code: api.BadSetting, Line: 4}},
 		{func(x *api.Recipe) { x.Packages[0].Conflicts[1].With.Name = "v" }, api.Problem{Code: api.Unknown, Line: 5}},
 		{func(x *api.Recipe) { x.Packages[0].Conflicts[1].With.Name = "z" }, api.Problem{Code: api.Unknown, Line: 5}},
-		{func(x *api.Recipe) { x.Packages[0].Conflicts[1].With.Settings = []api.Setting{set("y", "1")} }, api.Problem{Code: api.BadSetting, Line: 5}},
+		{func(x *api.Recipe) { x.Packages[0].Conflicts[1].With.Settings = []api.Setting{testkit.Set("y", "1")} }, api.Problem{Code: api.BadSetting, Line: 5}},
 		{func(x *api.Recipe) {
-			x.Packages[0].Conflicts[1].With = api.Spec{Settings: []api.Setting{set("q", "1")}}
+			x.Packages[0].Conflicts[1].With = api.Spec{Settings: []api.Setting{testkit.Set("q", "1")}}
 		}, api.Problem{}},
 		{func(x *api.Recipe) { x.Prefers[0].Virtual = "b" }, api.Problem{Code: api.BadPrefer, Line: 8}},
 		{func(x *api.Recipe) { x.Prefers[0].Virtual = "a" }, api.Problem{Code: api.BadPrefer, Line: 8}},
@@ -171,14 +165,14 @@ func TestTheOrder(t *testing.T) {
 		{func() { p.Variants = nil }, api.Problem{Code: api.SameThing, Line: 7}},
 		{func() { p.Provides = []string{"v"} }, api.Problem{Code: api.Unknown, Line: 2}},
 		{func() {
-			x.Packages[0].Depends[0].On = wish("b", set("y", "3"))
-			x.Packages[0].Depends[0].When = wish("", set("z", "3"))
+			x.Packages[0].Depends[0].On = testkit.Wish("b", testkit.Set("y", "3"))
+			x.Packages[0].Depends[0].When = testkit.Wish("", testkit.Set("z", "3"))
 		}, api.Problem{Code: api.BadSetting, Line: 2}},
 		{func() {
-			x.Packages[0].Depends[0].On = wish("b")
-			x.Packages[0].Conflicts[0].When = wish("", set("z", "1"))
+			x.Packages[0].Depends[0].On = testkit.Wish("b")
+			x.Packages[0].Conflicts[0].When = testkit.Wish("", testkit.Set("z", "1"))
 		}, api.Problem{Code: api.BadSetting, Line: 2}},
-		{func() { x.Packages[0].Depends[0].When = wish("") }, api.Problem{Code: api.BadSetting, Line: 4}},
+		{func() { x.Packages[0].Depends[0].When = testkit.Wish("") }, api.Problem{Code: api.BadSetting, Line: 4}},
 		{func() { x.Packages[0].Conflicts = nil }, api.Problem{Code: api.BadPrefer, Line: 8}},
 	} {
 		step.mend()
@@ -197,7 +191,7 @@ func TestRequest(t *testing.T) {
 		}
 		return q
 	}
-	nine := slices.Repeat([]api.Spec{wish("a")}, 9)
+	nine := slices.Repeat([]api.Spec{testkit.Wish("a")}, 9)
 	for i, c := range []struct {
 		q    api.Request
 		want api.Problem
@@ -205,10 +199,10 @@ func TestRequest(t *testing.T) {
 		{ask(), api.Problem{Code: api.NoRoot}},
 		{ask(nine...), api.Problem{Code: api.TooMany, Line: 18}},
 		{ask(nine[:8]...), api.Problem{}},
-		{ask(wish("a", set("x", "on")), wish("v"), wish("a")), api.Problem{}},
-		{ask(wish("a"), wish("z")), api.Problem{Code: api.Unknown, Line: 11}},
-		{ask(wish("a", set("x", "1"))), api.Problem{Code: api.BadSetting, Line: 10}},
-		{ask(wish("v", set("x", "1"))), api.Problem{Code: api.BadVirtual, Line: 10}},
+		{ask(testkit.Wish("a", testkit.Set("x", "on")), testkit.Wish("v"), testkit.Wish("a")), api.Problem{}},
+		{ask(testkit.Wish("a"), testkit.Wish("z")), api.Problem{Code: api.Unknown, Line: 11}},
+		{ask(testkit.Wish("a", testkit.Set("x", "1"))), api.Problem{Code: api.BadSetting, Line: 10}},
+		{ask(testkit.Wish("v", testkit.Set("x", "1"))), api.Problem{Code: api.BadVirtual, Line: 10}},
 		{ask(api.Spec{Name: "a"}), api.Problem{}},
 	} {
 		if got := Request(x, c.q); got != c.want {

@@ -15,22 +15,12 @@ import (
 
 const great = 1 << 20
 
-func wish(name string) api.Spec { return api.Spec{Name: name, Spans: testkit.All()} }
-
 func pack(name string, depends ...string) api.Package {
 	p := api.Package{Name: name, Releases: []api.Release{{Version: "1"}, {Version: "2"}}}
 	for i, d := range depends {
-		p.Depends = append(p.Depends, api.Depend{On: wish(d), When: testkit.Always(), Line: 10 + i})
+		p.Depends = append(p.Depends, api.Depend{On: testkit.Wish(d), When: testkit.Always(), Line: 10 + i})
 	}
 	return p
-}
-
-func ask(specs ...api.Spec) api.Request {
-	var q api.Request
-	for i, s := range specs {
-		q.Roots = append(q.Roots, api.Root{Spec: s, Line: 1 + i})
-	}
-	return q
 }
 
 func why(t *testing.T, x api.Recipe, q api.Request) api.Reason {
@@ -45,7 +35,7 @@ func why(t *testing.T, x api.Recipe, q api.Request) api.Reason {
 func TestTwoRoots(t *testing.T) {
 	x := api.Recipe{Packages: []api.Package{pack("a"), pack("b")}}
 	at := func(v string) api.Spec { return api.Spec{Name: "a", Spans: []api.Span{{Lo: v, Hi: v}}} }
-	r := why(t, x, ask(wish("b"), at("1"), wish("a"), at("2")))
+	r := why(t, x, testkit.Ask(testkit.Wish("b"), at("1"), testkit.Wish("a"), at("2")))
 	want := []api.Rule{{Kind: api.RootRule, Package: -1, Index: 1, Line: 2}, {Kind: api.RootRule, Package: -1, Index: 3, Line: 4}}
 	if r.State != api.Unsat || !slices.Equal(r.Core, []int{1, 3}) || !slices.Equal(r.Rules, want) {
 		t.Error(r.State, r.Core, r.Rules)
@@ -54,7 +44,7 @@ func TestTwoRoots(t *testing.T) {
 
 func TestCircle(t *testing.T) {
 	x := api.Recipe{Packages: []api.Package{pack("a", "c", "b"), pack("b", "c", "a"), pack("c")}}
-	r := why(t, x, ask(wish("c"), wish("a")))
+	r := why(t, x, testkit.Ask(testkit.Wish("c"), testkit.Wish("a")))
 	if !slices.Equal(r.Core, []int{1, 3, 5}) || len(r.Rules) != 3 || r.Rules[1] != (api.Rule{Kind: api.DependRule, Package: 0, Index: 1, Line: 11}) {
 		t.Error(r.Core, r.Rules)
 	}
@@ -63,18 +53,18 @@ func TestCircle(t *testing.T) {
 func TestOneIsNeeded(t *testing.T) {
 	x := api.Recipe{Packages: []api.Package{pack("a", "v"), pack("b"), pack("c")}}
 	x.Packages[1].Provides, x.Packages[2].Provides = []string{"v"}, []string{"v"}
-	if r := why(t, x, ask(wish("b"), wish("c"), wish("a"))); !slices.Equal(r.Core, []int{0, 1, 2, 3}) {
+	if r := why(t, x, testkit.Ask(testkit.Wish("b"), testkit.Wish("c"), testkit.Wish("a"))); !slices.Equal(r.Core, []int{0, 1, 2, 3}) {
 		t.Error(r.Core)
 	}
-	if r := why(t, x, ask(wish("b"), wish("c"), wish("a"), wish("v"))); !slices.Equal(r.Core, []int{0, 1, 2, 4}) && !slices.Equal(r.Core, []int{0, 1, 3}) {
+	if r := why(t, x, testkit.Ask(testkit.Wish("b"), testkit.Wish("c"), testkit.Wish("a"), testkit.Wish("v"))); !slices.Equal(r.Core, []int{0, 1, 2, 4}) && !slices.Equal(r.Core, []int{0, 1, 3}) {
 		t.Error(r.Core)
 	}
 }
 
 func TestConflict(t *testing.T) {
 	x := api.Recipe{Packages: []api.Package{pack("a", "b"), pack("b")}}
-	x.Packages[0].Conflicts = []api.Conflict{{When: testkit.Always(), With: wish("b"), Line: 7}}
-	r := why(t, x, ask(wish("a")))
+	x.Packages[0].Conflicts = []api.Conflict{{When: testkit.Always(), With: testkit.Wish("b"), Line: 7}}
+	r := why(t, x, testkit.Ask(testkit.Wish("a")))
 	if !slices.Equal(r.Core, []int{0, 1, 2}) || r.Rules[2] != (api.Rule{Kind: api.ConflictRule, Package: 0, Index: 0, Line: 7}) {
 		t.Error(r.Core, r.Rules)
 	}
@@ -83,26 +73,26 @@ func TestConflict(t *testing.T) {
 func TestErrorsAndLimits(t *testing.T) {
 	x := api.Recipe{Packages: []api.Package{pack("a", "b"), pack("b", "a")}}
 	zero := api.Reason{}
-	if r, err := Why(x, ask(), 0, 0); err != api.ErrForm || !reflect.DeepEqual(r, zero) {
+	if r, err := Why(x, testkit.Ask(), 0, 0); err != api.ErrForm || !reflect.DeepEqual(r, zero) {
 		t.Error(r, err)
 	}
-	if state, err := Admits(x, ask(wish("z")), nil, 0, 0); err != api.ErrForm || state != 0 {
+	if state, err := Admits(x, testkit.Ask(testkit.Wish("z")), nil, 0, 0); err != api.ErrForm || state != 0 {
 		t.Error(state, err)
 	}
 	for _, limit := range []int{-1, 0, 7} {
-		r, err := Why(x, ask(wish("a")), limit, great)
+		r, err := Why(x, testkit.Ask(testkit.Wish("a")), limit, great)
 		if err != api.OK || !reflect.DeepEqual(r, api.Reason{State: api.Large}) {
 			t.Error(r, err)
 		}
-		if state, err := Admits(x, ask(wish("a")), nil, limit, great); err != api.OK || state != api.Large {
+		if state, err := Admits(x, testkit.Ask(testkit.Wish("a")), nil, limit, great); err != api.OK || state != api.Large {
 			t.Error(state, err)
 		}
 	}
-	if r, err := Why(x, ask(wish("a")), great, -1); err != api.OK || !reflect.DeepEqual(r, api.Reason{State: api.Spent}) {
+	if r, err := Why(x, testkit.Ask(testkit.Wish("a")), great, -1); err != api.OK || !reflect.DeepEqual(r, api.Reason{State: api.Spent}) {
 		t.Error(r, err)
 	}
 	x.Packages[1].Depends = nil
-	if r := why(t, x, ask(wish("a"))); !reflect.DeepEqual(r, api.Reason{State: api.Sat}) {
+	if r := why(t, x, testkit.Ask(testkit.Wish("a"))); !reflect.DeepEqual(r, api.Reason{State: api.Sat}) {
 		t.Error(r)
 	}
 }
@@ -115,7 +105,7 @@ func TestAdmits(t *testing.T) {
 	}{
 		{nil, api.Sat}, {[]int{0, 1, 2}, api.Unsat}, {[]int{2, 1, 0, 0, 2}, api.Unsat}, {[]int{0, 1}, api.Sat}, {[]int{0, 2}, api.Sat}, {[]int{1, 2}, api.Sat}, {[]int{-1, 3, math.MaxInt, 0}, api.Sat},
 	} {
-		if state, err := Admits(x, ask(wish("a")), c.rules, great, great); err != api.OK || state != c.want {
+		if state, err := Admits(x, testkit.Ask(testkit.Wish("a")), c.rules, great, great); err != api.OK || state != c.want {
 			t.Error(c.rules, state, err)
 		}
 	}

@@ -10,16 +10,12 @@ import (
 	"cooper/testkit"
 )
 
-func wish(name string) api.Spec { return api.Spec{Name: name, Spans: testkit.All()} }
-
-func set(name, value string) api.Setting { return api.Setting{Name: name, Value: value} }
-
 func recipe() api.Recipe {
 	return api.Recipe{
 		Packages: []api.Package{
 			{
 				Name: "a", Releases: []api.Release{{Version: "1", Old: true}, {Version: "3"}, {Version: "2"}}, Variants: []api.Variant{{Name: "x", Values: []string{"on", "off", "1"}}, {Name: "y", Values: []string{"on"}}},
-				Depends: []api.Depend{{On: wish("v"), When: testkit.Always()}, {On: wish("w"), When: api.Spec{Spans: testkit.All(), Settings: []api.Setting{set("x", "off")}}}, {On: wish("d"), When: testkit.Always()}},
+				Depends: []api.Depend{{On: testkit.Wish("v"), When: testkit.Always()}, {On: testkit.Wish("w"), When: api.Spec{Spans: testkit.All(), Settings: []api.Setting{testkit.Set("x", "off")}}}, {On: testkit.Wish("d"), When: testkit.Always()}},
 			},
 			{Name: "b", Releases: []api.Release{{Version: "1"}, {Version: "2", Old: true}}, Provides: []string{"v", "w"}},
 			{Name: "c", Releases: []api.Release{{Version: "1"}}, Provides: []string{"v", "w"}},
@@ -29,35 +25,27 @@ func recipe() api.Recipe {
 	}
 }
 
-func ask(names ...string) api.Request {
-	var q api.Request
-	for _, name := range names {
-		q.Roots = append(q.Roots, api.Root{Spec: wish(name)})
-	}
-	return q
-}
-
 func TestOf(t *testing.T) {
-	a := api.Node{Name: "a", Version: "2", Settings: []api.Setting{set("x", "off"), set("y", "on")}}
-	usual := api.Node{Name: "a", Version: "3", Settings: []api.Setting{set("x", "on"), set("y", "on")}}
-	old := api.Node{Name: "a", Version: "1", Settings: []api.Setting{set("x", "on"), set("y", "off"), set("z", "on")}}
+	a := api.Node{Name: "a", Version: "2", Settings: []api.Setting{testkit.Set("x", "off"), testkit.Set("y", "on")}}
+	usual := api.Node{Name: "a", Version: "3", Settings: []api.Setting{testkit.Set("x", "on"), testkit.Set("y", "on")}}
+	old := api.Node{Name: "a", Version: "1", Settings: []api.Setting{testkit.Set("x", "on"), testkit.Set("y", "off"), testkit.Set("z", "on")}}
 	b, c, d := api.Node{Name: "b", Version: "1"}, api.Node{Name: "c", Version: "1"}, api.Node{Name: "d", Version: "1"}
 	for i, k := range []struct {
 		q     api.Request
 		nodes []api.Node
 		want  api.Cost
 	}{
-		{ask("a"), nil, api.Cost{}},
-		{ask("a"), []api.Node{usual, c, d}, api.Cost{0, 0, 0, 0, 2, 3}},
-		{ask("a"), []api.Node{a, b, d}, api.Cost{0, 1, 1, 1 + 1, 1 + 2, 3}},
-		{ask("a", "d", "d"), []api.Node{a, b, d}, api.Cost{0, 1 + 2, 1, 1 + 1, 1, 3}},
-		{ask("v"), []api.Node{b, d}, api.Cost{0, 1, 0, 1, 2, 2}},
-		{ask("w"), []api.Node{b, c}, api.Cost{0, 1, 0, 1, 0, 2}},
-		{ask("a"), []api.Node{usual, b, c}, api.Cost{0, 0, 0, 1, 1, 3}},
-		{ask("d"), []api.Node{b}, api.Cost{0, 0, 0, 0, 1, 1}},
-		{ask("d"), []api.Node{old, {Name: "b", Version: "2"}}, api.Cost{2, 0, 2, 1, 2, 2}},
-		{ask("a"), []api.Node{{Name: "z", Version: "1", Settings: []api.Setting{set("x", "on")}}, {Name: "d", Version: "9"}}, api.Cost{0, 0, 0, 0, 0, 2}},
-		{ask("d"), []api.Node{d, d}, api.Cost{0, 4, 0, 0, 0, 2}},
+		{testkit.AskFor("a"), nil, api.Cost{}},
+		{testkit.AskFor("a"), []api.Node{usual, c, d}, api.Cost{0, 0, 0, 0, 2, 3}},
+		{testkit.AskFor("a"), []api.Node{a, b, d}, api.Cost{0, 1, 1, 1 + 1, 1 + 2, 3}},
+		{testkit.AskFor("a", "d", "d"), []api.Node{a, b, d}, api.Cost{0, 1 + 2, 1, 1 + 1, 1, 3}},
+		{testkit.AskFor("v"), []api.Node{b, d}, api.Cost{0, 1, 0, 1, 2, 2}},
+		{testkit.AskFor("w"), []api.Node{b, c}, api.Cost{0, 1, 0, 1, 0, 2}},
+		{testkit.AskFor("a"), []api.Node{usual, b, c}, api.Cost{0, 0, 0, 1, 1, 3}},
+		{testkit.AskFor("d"), []api.Node{b}, api.Cost{0, 0, 0, 0, 1, 1}},
+		{testkit.AskFor("d"), []api.Node{old, {Name: "b", Version: "2"}}, api.Cost{2, 0, 2, 1, 2, 2}},
+		{testkit.AskFor("a"), []api.Node{{Name: "z", Version: "1", Settings: []api.Setting{testkit.Set("x", "on")}}, {Name: "d", Version: "9"}}, api.Cost{0, 0, 0, 0, 0, 2}},
+		{testkit.AskFor("d"), []api.Node{d, d}, api.Cost{0, 4, 0, 0, 0, 2}},
 	} {
 		if got := Of(recipe(), k.q, api.Graph{Nodes: k.nodes}); got != k.want {
 			t.Error(i, got, k.want)
@@ -83,7 +71,7 @@ func TestCompare(t *testing.T) {
 }
 
 func TestTerms(t *testing.T) {
-	f, err := formula.Build(recipe(), ask("a"), 10000)
+	f, err := formula.Build(recipe(), testkit.AskFor("a"), 10000)
 	if err != api.OK {
 		t.Fatal(err)
 	}
@@ -121,8 +109,8 @@ func TestTerms(t *testing.T) {
 }
 
 func TestTermsOfAFullTable(t *testing.T) {
-	f, _ := formula.Build(recipe(), ask("a"), 10000)
-	f, err := formula.Build(recipe(), ask("a"), f.Atoms()+1)
+	f, _ := formula.Build(recipe(), testkit.AskFor("a"), 10000)
+	f, err := formula.Build(recipe(), testkit.AskFor("a"), f.Atoms()+1)
 	if got := Terms(f, 3); err != api.OK || len(got) != 1 || !f.Ground().Table().Full() || f.Ground().Builder().Bad() {
 		t.Error(got, err)
 	}
@@ -142,19 +130,19 @@ func TestWeigh(t *testing.T) {
 }
 
 func TestHolds(t *testing.T) {
-	n := api.Node{Name: "a", Version: "2", Settings: []api.Setting{set("x", "on"), set("y", "1")}}
+	n := api.Node{Name: "a", Version: "2", Settings: []api.Setting{testkit.Set("x", "on"), testkit.Set("y", "1")}}
 	for i, c := range []struct {
 		s    api.Spec
 		want bool
 	}{
-		{wish("another"), true}, {api.Spec{}, false}, {api.Spec{Spans: []api.Span{{Lo: "3"}, {Hi: "2"}}}, true}, {api.Spec{Spans: []api.Span{{Lo: "3"}}}, false},
-		{api.Spec{Spans: testkit.All(), Settings: []api.Setting{set("y", "1")}}, true}, {api.Spec{Spans: testkit.All(), Settings: []api.Setting{set("y", "2")}}, false}, {api.Spec{Spans: testkit.All(), Settings: []api.Setting{set("z", "1")}}, false},
+		{testkit.Wish("another"), true}, {api.Spec{}, false}, {api.Spec{Spans: []api.Span{{Lo: "3"}, {Hi: "2"}}}, true}, {api.Spec{Spans: []api.Span{{Lo: "3"}}}, false},
+		{api.Spec{Spans: testkit.All(), Settings: []api.Setting{testkit.Set("y", "1")}}, true}, {api.Spec{Spans: testkit.All(), Settings: []api.Setting{testkit.Set("y", "2")}}, false}, {api.Spec{Spans: testkit.All(), Settings: []api.Setting{testkit.Set("z", "1")}}, false},
 	} {
 		if Holds(n, c.s) != c.want {
 			t.Error(i)
 		}
 	}
-	if Holds(api.Node{}, wish("a")) {
+	if Holds(api.Node{}, testkit.Wish("a")) {
 		t.Error("what has no version is in no set")
 	}
 }

@@ -13,8 +13,6 @@ import (
 
 const great = 1 << 20
 
-func wish(name string) api.Spec { return api.Spec{Name: name, Spans: testkit.All()} }
-
 func pack(name string, versions ...string) api.Package {
 	p := api.Package{Name: name}
 	for _, v := range versions {
@@ -31,14 +29,6 @@ func on(specs ...api.Spec) []api.Depend {
 	return out
 }
 
-func ask(names ...string) api.Request {
-	var q api.Request
-	for _, name := range names {
-		q.Roots = append(q.Roots, api.Root{Spec: wish(name)})
-	}
-	return q
-}
-
 func best(t *testing.T, x api.Recipe, q api.Request) api.Found {
 	t.Helper()
 	f, err := Best(x, q, great, great)
@@ -49,7 +39,7 @@ func best(t *testing.T, x api.Recipe, q api.Request) api.Found {
 }
 
 func TestNewest(t *testing.T) {
-	f := best(t, api.Recipe{Packages: []api.Package{pack("a", "1", "2")}}, ask("a"))
+	f := best(t, api.Recipe{Packages: []api.Package{pack("a", "1", "2")}}, testkit.AskFor("a"))
 	if f.State != api.Sat || testkit.Text(f.Graph) != "a@2; " || f.Cost != (api.Cost{0, 0, 0, 0, 0, 1}) {
 		t.Error(f)
 	}
@@ -59,8 +49,8 @@ func TestNewest(t *testing.T) {
 func TestOldCountsForMore(t *testing.T) {
 	x := api.Recipe{Packages: []api.Package{pack("a", "1", "2"), pack("b", "1")}}
 	x.Packages[1].Releases[0].Old = true
-	x.Packages[0].Depends = []api.Depend{{On: wish("b"), When: api.Spec{Spans: []api.Span{{Lo: "2", Hi: "2"}}}}}
-	if f := best(t, x, ask("a")); testkit.Text(f.Graph) != "a@1; " || f.Cost != (api.Cost{0, 1, 0, 0, 0, 1}) {
+	x.Packages[0].Depends = []api.Depend{{On: testkit.Wish("b"), When: api.Spec{Spans: []api.Span{{Lo: "2", Hi: "2"}}}}}
+	if f := best(t, x, testkit.AskFor("a")); testkit.Text(f.Graph) != "a@1; " || f.Cost != (api.Cost{0, 1, 0, 0, 0, 1}) {
 		t.Error(f)
 	}
 }
@@ -68,20 +58,20 @@ func TestOldCountsForMore(t *testing.T) {
 func TestPreferred(t *testing.T) {
 	x := api.Recipe{Packages: []api.Package{pack("a", "1"), pack("b", "1"), pack("c", "1")}, Prefers: []api.Prefer{{Virtual: "v", Names: []string{"c", "b"}}}}
 	x.Packages[1].Provides, x.Packages[2].Provides = []string{"v"}, []string{"v"}
-	x.Packages[0].Depends = on(wish("v"))
-	if f := best(t, x, ask("a")); testkit.Text(f.Graph) != "a@1 >c; c@1; " {
+	x.Packages[0].Depends = on(testkit.Wish("v"))
+	if f := best(t, x, testkit.AskFor("a")); testkit.Text(f.Graph) != "a@1 >c; c@1; " {
 		t.Error(f)
 	}
-	x.Packages[0].Conflicts = []api.Conflict{{When: testkit.Always(), With: wish("c")}}
-	if f := best(t, x, ask("a")); testkit.Text(f.Graph) != "a@1 >b; b@1; " || f.Cost[3] != 1 {
+	x.Packages[0].Conflicts = []api.Conflict{{When: testkit.Always(), With: testkit.Wish("c")}}
+	if f := best(t, x, testkit.AskFor("a")); testkit.Text(f.Graph) != "a@1 >b; b@1; " || f.Cost[3] != 1 {
 		t.Error(f)
 	}
 }
 
 func TestNone(t *testing.T) {
 	x := api.Recipe{Packages: []api.Package{pack("a", "1"), pack("b", "1")}}
-	x.Packages[0].Depends, x.Packages[1].Depends = on(wish("b")), on(wish("a"))
-	f := best(t, x, ask("a"))
+	x.Packages[0].Depends, x.Packages[1].Depends = on(testkit.Wish("b")), on(testkit.Wish("a"))
+	f := best(t, x, testkit.AskFor("a"))
 	if f.State != api.Unsat || len(f.Graph.Nodes) != 0 || f.Cost != (api.Cost{}) {
 		t.Error(f)
 	}
@@ -90,23 +80,23 @@ func TestNone(t *testing.T) {
 func TestErrorsAndLimits(t *testing.T) {
 	x := api.Recipe{Packages: []api.Package{pack("a", "1", "2"), pack("b", "1", "2", "3")}}
 	x.Packages[0].Depends = on(api.Spec{Name: "b", Spans: []api.Span{{Hi: "2"}}})
-	if f, err := Best(x, ask("z"), -1, -1); err != api.ErrForm || !reflect.DeepEqual(f, api.Found{}) {
+	if f, err := Best(x, testkit.AskFor("z"), -1, -1); err != api.ErrForm || !reflect.DeepEqual(f, api.Found{}) {
 		t.Error(f, err)
 	}
-	if f, err := Best(api.Recipe{Packages: []api.Package{pack("a")}}, ask("a"), great, great); err != api.ErrForm || !reflect.DeepEqual(f, api.Found{}) {
+	if f, err := Best(api.Recipe{Packages: []api.Package{pack("a")}}, testkit.AskFor("a"), great, great); err != api.ErrForm || !reflect.DeepEqual(f, api.Found{}) {
 		t.Error(f, err)
 	}
-	fm, _ := formula.Build(x, ask("a"), great)
+	fm, _ := formula.Build(x, testkit.AskFor("a"), great)
 	for _, limit := range []int{-1, 0, 5, fm.Atoms() - 1} {
-		if f, err := Best(x, ask("a"), limit, great); err != api.OK || !reflect.DeepEqual(f, api.Found{State: api.Large}) {
+		if f, err := Best(x, testkit.AskFor("a"), limit, great); err != api.OK || !reflect.DeepEqual(f, api.Found{State: api.Large}) {
 			t.Error(limit, f, err)
 		}
 	}
 	// Somewhere on the way there may be too many atoms, never another answer.
-	want := best(t, x, ask("a"))
+	want := best(t, x, testkit.AskFor("a"))
 	large := 0
 	for limit := fm.Atoms(); limit < fm.Atoms()+200; limit++ {
-		f, err := Best(x, ask("a"), limit, great)
+		f, err := Best(x, testkit.AskFor("a"), limit, great)
 		if f.State == api.Large {
 			large++
 			if err != api.OK || !reflect.DeepEqual(f, api.Found{State: api.Large}) {
@@ -200,7 +190,7 @@ func TestGreatRecipe(t *testing.T) {
 				p.Variants = append(p.Variants, api.Variant{Name: name, Values: []string{"1", "2", "3", "4"}})
 			}
 			for k := i + 1; k < min(i+4, api.MaxPackages); k++ {
-				s := wish("p" + strconv.Itoa(k))
+				s := testkit.Wish("p" + strconv.Itoa(k))
 				if oldest {
 					s.Spans = []api.Span{{Hi: "1"}}
 					s.Settings = []api.Setting{{Name: "x", Value: "3"}}
@@ -209,7 +199,7 @@ func TestGreatRecipe(t *testing.T) {
 			}
 			x.Packages = append(x.Packages, p)
 		}
-		f := best(t, x, ask("p0"))
+		f := best(t, x, testkit.AskFor("p0"))
 		want := api.Cost{0, 0, 0, 0, 0, 24}
 		if oldest {
 			want = api.Cost{0, 0, 23, 0, 9 * 23, 24}

@@ -25,22 +25,12 @@ func atom(kind uint8, numbers ...int) api.Atom {
 	return a
 }
 
-func wish(name string) api.Spec { return api.Spec{Name: name, Spans: testkit.All()} }
-
 func pack(name string, depends ...string) api.Package {
 	p := api.Package{Name: name, Releases: []api.Release{{Version: "1"}}}
 	for _, d := range depends {
-		p.Depends = append(p.Depends, api.Depend{On: wish(d), When: testkit.Always()})
+		p.Depends = append(p.Depends, api.Depend{On: testkit.Wish(d), When: testkit.Always()})
 	}
 	return p
-}
-
-func ask(names ...string) api.Request {
-	var q api.Request
-	for _, name := range names {
-		q.Roots = append(q.Roots, api.Root{Spec: wish(name)})
-	}
-	return q
 }
 
 func ground(x api.Recipe, q api.Request, limit int) *choice.Ground {
@@ -68,7 +58,7 @@ func numbers(g *choice.Ground, l ...any) []int {
 
 func TestClausesOfADepend(t *testing.T) {
 	x := api.Recipe{Packages: []api.Package{pack("a", "b"), pack("b")}}
-	g := ground(x, ask("a"), 100)
+	g := ground(x, testkit.AskFor("a"), 100)
 	before := len(g.Builder().Clauses())
 	Edges(g)
 	const not = "not"
@@ -91,7 +81,7 @@ func TestClausesOfADepend(t *testing.T) {
 func TestClausesOfAName(t *testing.T) {
 	x := api.Recipe{Packages: []api.Package{pack("a", "v"), pack("b"), pack("c")}}
 	x.Packages[1].Provides, x.Packages[2].Provides = []string{"v"}, []string{"v"}
-	g := ground(x, ask("v", "a"), 100)
+	g := ground(x, testkit.AskFor("v", "a"), 100)
 	Edges(g)
 	const not = "not"
 	need, a, b, c := atom(api.NeedAtom, 0), atom(api.NodeAtom, 0), atom(api.NodeAtom, 1), atom(api.NodeAtom, 2)
@@ -113,7 +103,7 @@ func TestMeet(t *testing.T) {
 	x := api.Recipe{Packages: []api.Package{pack("a", "b"), pack("b"), pack("c")}}
 	x.Packages[1].Releases = []api.Release{{Version: "1"}, {Version: "2"}, {Version: "3"}}
 	x.Packages[1].Variants = []api.Variant{{Name: "x", Values: []string{"on", "off"}}}
-	g := ground(x, ask("a"), 100)
+	g := ground(x, testkit.AskFor("a"), 100)
 	before := len(g.Builder().Clauses())
 	s := api.Spec{Spans: []api.Span{{Hi: "1"}, {Lo: "3"}}, Settings: []api.Setting{{Name: "x", Value: "off"}}}
 	n := Meet(g, 1, 7, 0, s)
@@ -152,7 +142,7 @@ func TestMeetIsSoJustIf(t *testing.T) {
 			x.Packages[0].Releases = append(x.Packages[0].Releases, api.Release{Version: "no version"})
 		}
 		other := testkit.Recipe(d, 1)
-		q := ask("a")
+		q := testkit.AskFor("a")
 		g := ground(x, q, 1000)
 		specs := []api.Spec{{}, testkit.Always(), {Spans: []api.Span{{Lo: "2", Hi: "2"}}}, {Spans: []api.Span{{Lo: "1"}, {Lo: "1"}}}, {Spans: testkit.All(), Settings: []api.Setting{{Name: "no", Value: "1"}}}}
 		for _, c := range other.Packages[0].Conflicts {
@@ -277,8 +267,8 @@ func TestGraphs(t *testing.T) {
 
 func TestConflictWithWhatMayNotBeNeeded(t *testing.T) {
 	x := api.Recipe{Packages: []api.Package{pack("a"), pack("b")}}
-	x.Packages[0].Conflicts = []api.Conflict{{When: testkit.Always(), With: wish("b")}}
-	g := ground(x, ask("a"), 100)
+	x.Packages[0].Conflicts = []api.Conflict{{When: testkit.Always(), With: testkit.Wish("b")}}
+	g := ground(x, testkit.AskFor("a"), 100)
 	Edges(g)
 	if g.Table().Look(atom(api.RuleAtom, 1)) == 0 {
 		t.Error("its RuleAtom gets a number all the same")
@@ -294,10 +284,10 @@ func TestConflictWithWhatMayNotBeNeeded(t *testing.T) {
 func TestLimit(t *testing.T) {
 	x := api.Recipe{Packages: []api.Package{pack("a", "b", "v"), pack("b", "a"), pack("c")}}
 	x.Packages[2].Provides = []string{"v"}
-	whole := ground(x, ask("a"), 1000)
+	whole := ground(x, testkit.AskFor("a"), 1000)
 	Edges(whole)
 	for limit := range whole.Table().Len() {
-		g := ground(x, ask("a"), limit)
+		g := ground(x, testkit.AskFor("a"), limit)
 		Edges(g)
 		if !g.Table().Full() || g.Builder().Bad() || g.Table().Len() != limit {
 			t.Error(limit, g.Table().Len())
@@ -312,7 +302,7 @@ func TestLimit(t *testing.T) {
 
 func TestOfNothing(t *testing.T) {
 	Edges(nil)
-	g := ground(api.Recipe{Packages: []api.Package{pack("a", "nothing", "a")}}, ask("nothing", "a", ""), 100)
+	g := ground(api.Recipe{Packages: []api.Package{pack("a", "nothing", "a")}}, testkit.AskFor("nothing", "a", ""), 100)
 	Edges(g)
 	if g.Builder().Bad() {
 		t.Error("names of nothing do no harm")

@@ -13,22 +13,12 @@ import (
 	"cooper/testkit"
 )
 
-func wish(name string) api.Spec { return api.Spec{Name: name, Spans: testkit.All()} }
-
 func pack(name string, depends ...string) api.Package {
 	p := api.Package{Name: name, Releases: []api.Release{{Version: "1"}}}
 	for _, d := range depends {
-		p.Depends = append(p.Depends, api.Depend{On: wish(d), When: testkit.Always()})
+		p.Depends = append(p.Depends, api.Depend{On: testkit.Wish(d), When: testkit.Always()})
 	}
 	return p
-}
-
-func ask(names ...string) api.Request {
-	var q api.Request
-	for _, name := range names {
-		q.Roots = append(q.Roots, api.Root{Spec: wish(name)})
-	}
-	return q
 }
 
 func build(t *testing.T, x api.Recipe, q api.Request) *Formula {
@@ -66,7 +56,7 @@ func TestBuildIsTheThreeParts(t *testing.T) {
 }
 
 func TestOneNode(t *testing.T) {
-	f := build(t, api.Recipe{Packages: []api.Package{pack("a")}}, ask("a"))
+	f := build(t, api.Recipe{Packages: []api.Package{pack("a")}}, testkit.AskFor("a"))
 	models := testkit.Models(f.Atoms(), f.Clauses(), f.Assume(nil))
 	if len(models) != 1 || testkit.Text(f.Read(models[0])) != "a@1; " {
 		t.Error(models)
@@ -75,29 +65,29 @@ func TestOneNode(t *testing.T) {
 
 func TestErrors(t *testing.T) {
 	x := api.Recipe{Packages: []api.Package{pack("a", "b"), pack("b")}}
-	if f, err := Build(x, ask("z"), 100); f != nil || err != api.ErrForm {
+	if f, err := Build(x, testkit.AskFor("z"), 100); f != nil || err != api.ErrForm {
 		t.Error(err)
 	}
-	if f, err := Build(x, ask(), 0); f != nil || err != api.ErrForm {
+	if f, err := Build(x, testkit.AskFor(), 0); f != nil || err != api.ErrForm {
 		t.Error("the form is asked first", err)
 	}
 	broken := api.Recipe{Packages: []api.Package{pack("a"), pack("a")}}
-	if f, err := Build(broken, ask("a"), 100); f != nil || err != api.ErrForm {
+	if f, err := Build(broken, testkit.AskFor("a"), 100); f != nil || err != api.ErrForm {
 		t.Error(err)
 	}
-	n := build(t, x, ask("a")).Atoms()
+	n := build(t, x, testkit.AskFor("a")).Atoms()
 	for _, limit := range []int{n - 1, 1, 0, -5} {
-		if f, err := Build(x, ask("a"), limit); f != nil || err != api.ErrLarge {
+		if f, err := Build(x, testkit.AskFor("a"), limit); f != nil || err != api.ErrLarge {
 			t.Error(limit, err)
 		}
 	}
-	if f, err := Build(x, ask("a"), n); err != api.OK || f.Atoms() != n {
+	if f, err := Build(x, testkit.AskFor("a"), n); err != api.OK || f.Atoms() != n {
 		t.Error("as many as the limit may be", err)
 	}
 }
 
 func TestAssume(t *testing.T) {
-	f := build(t, api.Recipe{Packages: []api.Package{pack("a", "b"), pack("b", "a")}}, ask("a"))
+	f := build(t, api.Recipe{Packages: []api.Package{pack("a", "b"), pack("b", "a")}}, testkit.AskFor("a"))
 	r := func(i int) int { return f.Number(api.Atom{Kind: api.RuleAtom, A: i}) }
 	for _, c := range []struct {
 		off  []bool
@@ -115,7 +105,7 @@ func TestRead(t *testing.T) {
 	x := api.Recipe{Packages: []api.Package{pack("c", "a", "b"), pack("b"), pack("a")}}
 	x.Packages[1].Releases = append(x.Packages[1].Releases, api.Release{Version: "2"})
 	x.Packages[1].Variants = []api.Variant{{Name: "x", Values: []string{"on", "off"}}, {Name: "a", Values: []string{"1"}}}
-	f := build(t, x, ask("c"))
+	f := build(t, x, testkit.AskFor("c"))
 	model := make([]bool, f.Atoms())
 	so := func(kind uint8, a, b, c int) { model[f.Number(api.Atom{Kind: kind, A: a, B: b, C: c})-1] = true }
 	if g := f.Read(model); len(g.Nodes) != 0 {
@@ -195,7 +185,7 @@ func TestJustTheGraphs(t *testing.T) {
 }
 
 func TestWhatComesBehind(t *testing.T) {
-	f := build(t, api.Recipe{Packages: []api.Package{pack("a")}}, ask("a"))
+	f := build(t, api.Recipe{Packages: []api.Package{pack("a")}}, testkit.AskFor("a"))
 	clauses, atoms := f.Clauses(), f.Atoms()
 	help := f.Ground().Table().Help()
 	f.Ground().Builder().Add(help)

@@ -11,27 +11,9 @@ import (
 	"cooper/testkit"
 )
 
-func set(name, value string) api.Setting { return api.Setting{Name: name, Value: value} }
-
-func wish(name string, settings ...api.Setting) api.Spec {
-	return api.Spec{Name: name, Spans: testkit.All(), Settings: settings}
-}
-
-func node(name, version string, needs ...string) api.Node {
-	return api.Node{Name: name, Version: version, Needs: needs}
-}
-
 func graph(nodes ...api.Node) api.Graph { return api.Graph{Nodes: nodes} }
 
-func ask(specs ...api.Spec) api.Request {
-	var q api.Request
-	for _, s := range specs {
-		q.Roots = append(q.Roots, api.Root{Spec: s})
-	}
-	return q
-}
-
-func on(name string) api.Depend { return api.Depend{On: wish(name), When: testkit.Always()} }
+func on(name string) api.Depend { return api.Depend{On: testkit.Wish(name), When: testkit.Always()} }
 
 // recipe: a (x) needs b from 2 on, and v if x is off; c and d provide v; d needs e, and e d if that is 2; b 3 is not with c.
 func recipe() api.Recipe {
@@ -39,18 +21,18 @@ func recipe() api.Recipe {
 	return api.Recipe{Packages: []api.Package{
 		{
 			Name: "a", Releases: one, Variants: []api.Variant{{Name: "x", Values: []string{"on", "off"}}},
-			Depends: []api.Depend{{On: api.Spec{Name: "b", Spans: []api.Span{{Lo: "2"}}}, When: testkit.Always()}, {On: wish("v"), When: wish("", set("x", "off"))}},
+			Depends: []api.Depend{{On: api.Spec{Name: "b", Spans: []api.Span{{Lo: "2"}}}, When: testkit.Always()}, {On: testkit.Wish("v"), When: testkit.Wish("", testkit.Set("x", "off"))}},
 		},
-		{Name: "b", Releases: two, Conflicts: []api.Conflict{{When: api.Spec{Spans: []api.Span{{Lo: "3"}}}, With: wish("c")}}},
-		{Name: "c", Releases: one, Provides: []string{"v"}, Conflicts: []api.Conflict{{When: wish(""), With: api.Spec{Name: "e", Spans: []api.Span{{Lo: "2"}}}}}},
+		{Name: "b", Releases: two, Conflicts: []api.Conflict{{When: api.Spec{Spans: []api.Span{{Lo: "3"}}}, With: testkit.Wish("c")}}},
+		{Name: "c", Releases: one, Provides: []string{"v"}, Conflicts: []api.Conflict{{When: testkit.Wish(""), With: api.Spec{Name: "e", Spans: []api.Span{{Lo: "2"}}}}}},
 		{Name: "d", Releases: two, Provides: []string{"v", "w"}, Depends: []api.Depend{on("e")}},
-		{Name: "e", Releases: two, Depends: []api.Depend{{On: wish("d"), When: api.Spec{Spans: []api.Span{{Lo: "2", Hi: "2"}}}}}},
+		{Name: "e", Releases: two, Depends: []api.Depend{{On: testkit.Wish("d"), When: api.Spec{Spans: []api.Span{{Lo: "2", Hi: "2"}}}}}},
 		{Name: "f", Releases: one, Conflicts: []api.Conflict{{When: testkit.Always()}}},
 	}}
 }
 
 func a(x string, needs ...string) api.Node {
-	return api.Node{Name: "a", Version: "1", Settings: []api.Setting{set("x", x)}, Needs: needs}
+	return api.Node{Name: "a", Version: "1", Settings: []api.Setting{testkit.Set("x", x)}, Needs: needs}
 }
 
 func TestCheck(t *testing.T) {
@@ -59,38 +41,38 @@ func TestCheck(t *testing.T) {
 		g    api.Graph
 		want api.Breach
 	}{
-		{ask(wish("a")), graph(a("on", "b"), node("b", "2")), api.Breach{}},
-		{ask(wish("a")), graph(a("off", "b", "c"), node("b", "2"), node("c", "1")), api.Breach{}},
-		{ask(wish("v"), wish("e")), graph(node("c", "1"), node("e", "1")), api.Breach{}},
-		{ask(wish("w")), graph(node("d", "1", "e"), node("e", "1")), api.Breach{}},
-		{ask(wish("a")), graph(), api.Breach{Code: api.BreachRoot, Name: "a"}},
-		{ask(), graph(), api.Breach{}},
-		{ask(wish("a")), graph(node("a", "9"), node("z", "1")), api.Breach{Code: api.BreachName, Name: "z"}},
-		{ask(wish("a")), graph(node("v", "1")), api.Breach{Code: api.BreachName, Name: "v"}},
-		{ask(wish("a")), graph(node("b", "1"), a("on"), node("z", "1")), api.Breach{Code: api.BreachName, Name: "a"}},
-		{ask(wish("a")), graph(node("b", "1"), node("b", "1")), api.Breach{Code: api.BreachName, Name: "b"}},
-		{ask(wish("a")), graph(node("a", "1"), node("b", "9")), api.Breach{Code: api.BreachVersion, Name: "b"}},
-		{ask(wish("a")), graph(node("a", "1"), node("b", "1")), api.Breach{Code: api.BreachSettings, Name: "a"}},
-		{ask(wish("a")), graph(a("1")), api.Breach{Code: api.BreachSettings, Name: "a"}},
-		{ask(wish("b"), wish("a", set("x", "off")), wish("c")), graph(a("on"), node("b", "1")), api.Breach{Code: api.BreachRoot, Name: "a"}},
-		{ask(wish("a")), graph(a("on", "b"), node("b", "1")), api.Breach{Code: api.BreachDepend, Name: "a"}},
-		{ask(wish("a")), graph(a("on")), api.Breach{Code: api.BreachDepend, Name: "a"}},
-		{ask(wish("w"), wish("v")), graph(), api.Breach{Code: api.BreachVirtual, Name: "v"}},
-		{ask(wish("w"), wish("v"), wish("c")), graph(node("c", "1"), node("d", "1"), node("e", "1")), api.Breach{Code: api.BreachVirtual, Name: "v"}},
-		{ask(wish("a")), graph(a("off", "b"), node("b", "3")), api.Breach{Code: api.BreachVirtual, Name: "v"}},
-		{ask(wish("w")), graph(), api.Breach{Code: api.BreachVirtual, Name: "w"}},
-		{ask(wish("a")), graph(a("off", "b", "c"), node("b", "3"), node("c", "1")), api.Breach{Code: api.BreachConflict, Name: "b"}},
-		{ask(wish("b"), wish("c")), graph(node("b", "3"), node("c", "1")), api.Breach{Code: api.BreachConflict, Name: "b"}},
-		{ask(wish("f")), graph(node("f", "1")), api.Breach{Code: api.BreachConflict, Name: "f"}},
-		{ask(wish("c"), wish("e")), graph(node("c", "1"), node("e", "3")), api.Breach{Code: api.BreachConflict, Name: "c"}},
-		{ask(wish("a")), graph(a("on"), node("b", "2")), api.Breach{Code: api.BreachNeeds, Name: "a"}},
-		{ask(wish("a")), graph(a("on", "b", "b"), node("b", "2")), api.Breach{Code: api.BreachNeeds, Name: "a"}},
-		{ask(wish("a")), graph(a("off", "c", "b"), node("b", "2"), node("c", "1")), api.Breach{Code: api.BreachNeeds, Name: "a"}},
-		{ask(wish("b")), graph(node("b", "1", "c")), api.Breach{Code: api.BreachNeeds, Name: "b"}},
-		{ask(wish("w")), graph(node("d", "1", "e"), node("e", "2", "d")), api.Breach{Code: api.BreachCircle, Name: "d"}},
-		{ask(wish("b")), graph(node("b", "1"), node("d", "1", "e"), node("e", "2", "d")), api.Breach{Code: api.BreachCircle, Name: "d"}},
-		{ask(wish("b")), graph(node("b", "1"), node("e", "1")), api.Breach{Code: api.BreachReach, Name: "e"}},
-		{ask(wish("e")), graph(node("d", "1", "e"), node("e", "1")), api.Breach{Code: api.BreachReach, Name: "d"}},
+		{testkit.Ask(testkit.Wish("a")), graph(a("on", "b"), testkit.Node("b", "2")), api.Breach{}},
+		{testkit.Ask(testkit.Wish("a")), graph(a("off", "b", "c"), testkit.Node("b", "2"), testkit.Node("c", "1")), api.Breach{}},
+		{testkit.Ask(testkit.Wish("v"), testkit.Wish("e")), graph(testkit.Node("c", "1"), testkit.Node("e", "1")), api.Breach{}},
+		{testkit.Ask(testkit.Wish("w")), graph(testkit.Node("d", "1", "e"), testkit.Node("e", "1")), api.Breach{}},
+		{testkit.Ask(testkit.Wish("a")), graph(), api.Breach{Code: api.BreachRoot, Name: "a"}},
+		{testkit.Ask(), graph(), api.Breach{}},
+		{testkit.Ask(testkit.Wish("a")), graph(testkit.Node("a", "9"), testkit.Node("z", "1")), api.Breach{Code: api.BreachName, Name: "z"}},
+		{testkit.Ask(testkit.Wish("a")), graph(testkit.Node("v", "1")), api.Breach{Code: api.BreachName, Name: "v"}},
+		{testkit.Ask(testkit.Wish("a")), graph(testkit.Node("b", "1"), a("on"), testkit.Node("z", "1")), api.Breach{Code: api.BreachName, Name: "a"}},
+		{testkit.Ask(testkit.Wish("a")), graph(testkit.Node("b", "1"), testkit.Node("b", "1")), api.Breach{Code: api.BreachName, Name: "b"}},
+		{testkit.Ask(testkit.Wish("a")), graph(testkit.Node("a", "1"), testkit.Node("b", "9")), api.Breach{Code: api.BreachVersion, Name: "b"}},
+		{testkit.Ask(testkit.Wish("a")), graph(testkit.Node("a", "1"), testkit.Node("b", "1")), api.Breach{Code: api.BreachSettings, Name: "a"}},
+		{testkit.Ask(testkit.Wish("a")), graph(a("1")), api.Breach{Code: api.BreachSettings, Name: "a"}},
+		{testkit.Ask(testkit.Wish("b"), testkit.Wish("a", testkit.Set("x", "off")), testkit.Wish("c")), graph(a("on"), testkit.Node("b", "1")), api.Breach{Code: api.BreachRoot, Name: "a"}},
+		{testkit.Ask(testkit.Wish("a")), graph(a("on", "b"), testkit.Node("b", "1")), api.Breach{Code: api.BreachDepend, Name: "a"}},
+		{testkit.Ask(testkit.Wish("a")), graph(a("on")), api.Breach{Code: api.BreachDepend, Name: "a"}},
+		{testkit.Ask(testkit.Wish("w"), testkit.Wish("v")), graph(), api.Breach{Code: api.BreachVirtual, Name: "v"}},
+		{testkit.Ask(testkit.Wish("w"), testkit.Wish("v"), testkit.Wish("c")), graph(testkit.Node("c", "1"), testkit.Node("d", "1"), testkit.Node("e", "1")), api.Breach{Code: api.BreachVirtual, Name: "v"}},
+		{testkit.Ask(testkit.Wish("a")), graph(a("off", "b"), testkit.Node("b", "3")), api.Breach{Code: api.BreachVirtual, Name: "v"}},
+		{testkit.Ask(testkit.Wish("w")), graph(), api.Breach{Code: api.BreachVirtual, Name: "w"}},
+		{testkit.Ask(testkit.Wish("a")), graph(a("off", "b", "c"), testkit.Node("b", "3"), testkit.Node("c", "1")), api.Breach{Code: api.BreachConflict, Name: "b"}},
+		{testkit.Ask(testkit.Wish("b"), testkit.Wish("c")), graph(testkit.Node("b", "3"), testkit.Node("c", "1")), api.Breach{Code: api.BreachConflict, Name: "b"}},
+		{testkit.Ask(testkit.Wish("f")), graph(testkit.Node("f", "1")), api.Breach{Code: api.BreachConflict, Name: "f"}},
+		{testkit.Ask(testkit.Wish("c"), testkit.Wish("e")), graph(testkit.Node("c", "1"), testkit.Node("e", "3")), api.Breach{Code: api.BreachConflict, Name: "c"}},
+		{testkit.Ask(testkit.Wish("a")), graph(a("on"), testkit.Node("b", "2")), api.Breach{Code: api.BreachNeeds, Name: "a"}},
+		{testkit.Ask(testkit.Wish("a")), graph(a("on", "b", "b"), testkit.Node("b", "2")), api.Breach{Code: api.BreachNeeds, Name: "a"}},
+		{testkit.Ask(testkit.Wish("a")), graph(a("off", "c", "b"), testkit.Node("b", "2"), testkit.Node("c", "1")), api.Breach{Code: api.BreachNeeds, Name: "a"}},
+		{testkit.Ask(testkit.Wish("b")), graph(testkit.Node("b", "1", "c")), api.Breach{Code: api.BreachNeeds, Name: "b"}},
+		{testkit.Ask(testkit.Wish("w")), graph(testkit.Node("d", "1", "e"), testkit.Node("e", "2", "d")), api.Breach{Code: api.BreachCircle, Name: "d"}},
+		{testkit.Ask(testkit.Wish("b")), graph(testkit.Node("b", "1"), testkit.Node("d", "1", "e"), testkit.Node("e", "2", "d")), api.Breach{Code: api.BreachCircle, Name: "d"}},
+		{testkit.Ask(testkit.Wish("b")), graph(testkit.Node("b", "1"), testkit.Node("e", "1")), api.Breach{Code: api.BreachReach, Name: "e"}},
+		{testkit.Ask(testkit.Wish("e")), graph(testkit.Node("d", "1", "e"), testkit.Node("e", "1")), api.Breach{Code: api.BreachReach, Name: "d"}},
 	} {
 		if got := Check(recipe(), c.q, c.g); got != c.want {
 			t.Error(i, got, c.want)
@@ -100,7 +82,7 @@ func TestCheck(t *testing.T) {
 
 func TestSelfCircle(t *testing.T) {
 	x := api.Recipe{Packages: []api.Package{{Name: "a", Releases: []api.Release{{Version: "1"}}, Depends: []api.Depend{on("a")}}}}
-	if b := Check(x, ask(wish("a")), graph(node("a", "1", "a"))); b != (api.Breach{Code: api.BreachCircle, Name: "a"}) {
+	if b := Check(x, testkit.Ask(testkit.Wish("a")), graph(testkit.Node("a", "1", "a"))); b != (api.Breach{Code: api.BreachCircle, Name: "a"}) {
 		t.Error(b)
 	}
 }
@@ -108,8 +90,8 @@ func TestSelfCircle(t *testing.T) {
 func TestRecipesWithProblems(t *testing.T) {
 	x := recipe()
 	x.Packages = append(x.Packages, x.Packages[0], api.Package{})
-	Check(x, ask(wish(""), wish("nothing")), graph(a("on", "b"), node("b", "2"), node("", "")))
-	Check(api.Recipe{}, api.Request{}, graph(node("", ""), node("", "")))
+	Check(x, testkit.Ask(testkit.Wish(""), testkit.Wish("nothing")), graph(a("on", "b"), testkit.Node("b", "2"), testkit.Node("", "")))
+	Check(api.Recipe{}, api.Request{}, graph(testkit.Node("", ""), testkit.Node("", "")))
 }
 
 // spoil changes something in a graph.
@@ -121,7 +103,7 @@ func spoil(d *testkit.Dice, g api.Graph, x api.Recipe) api.Graph {
 	}
 	for range 1 + d.Roll(2) {
 		if len(out.Nodes) == 0 {
-			return graph(node("a", "1"))
+			return graph(testkit.Node("a", "1"))
 		}
 		n := &out.Nodes[d.Roll(len(out.Nodes))]
 		switch d.Roll(7) {
@@ -143,9 +125,9 @@ func spoil(d *testkit.Dice, g api.Graph, x api.Recipe) api.Graph {
 			out.Nodes = slices.Delete(out.Nodes, k, k+1)
 		case 5:
 			p := x.Packages[d.Roll(len(x.Packages))]
-			more := node(p.Name, p.Releases[0].Version)
+			more := testkit.Node(p.Name, p.Releases[0].Version)
 			for _, v := range p.Variants {
-				more.Settings = append(more.Settings, set(v.Name, v.Values[0]))
+				more.Settings = append(more.Settings, testkit.Set(v.Name, v.Values[0]))
 			}
 			out.Nodes = append(out.Nodes, more)
 			slices.SortStableFunc(out.Nodes, func(a, b api.Node) int {
@@ -206,7 +188,7 @@ func TestTheSameAsFound(t *testing.T) {
 }
 
 func TestReadOfAModel(t *testing.T) {
-	x, q := recipe(), ask(wish("a"), wish("v"))
+	x, q := recipe(), testkit.Ask(testkit.Wish("a"), testkit.Wish("v"))
 	f, _ := formula.Build(x, q, 1<<16)
 	read := map[string]int{}
 	for _, m := range testkit.Models(f.Atoms(), f.Clauses(), f.Assume(nil))[:200] {
@@ -222,22 +204,22 @@ func TestReadOfAModel(t *testing.T) {
 }
 
 func TestFind(t *testing.T) {
-	g := graph(node("b", "1"), node("a", "1"), node("a", "2"))
+	g := graph(testkit.Node("b", "1"), testkit.Node("a", "1"), testkit.Node("a", "2"))
 	if Find(g, "a") != 1 || Find(g, "b") != 0 || Find(g, "c") != -1 || Find(api.Graph{}, "") != -1 {
 		t.Error("the first node of a name")
 	}
 }
 
 func TestSame(t *testing.T) {
-	g := graph(a("on", "b"), node("b", "1"))
-	if !Same(g, graph(a("on", "b"), node("b", "1"))) || !Same(api.Graph{}, graph()) {
+	g := graph(a("on", "b"), testkit.Node("b", "1"))
+	if !Same(g, graph(a("on", "b"), testkit.Node("b", "1"))) || !Same(api.Graph{}, graph()) {
 		t.Error("the same")
 	}
 	empty := api.Node{Name: "b", Version: "1", Settings: []api.Setting{}, Needs: []string{}}
-	if !Same(graph(empty), graph(node("b", "1"))) {
+	if !Same(graph(empty), graph(testkit.Node("b", "1"))) {
 		t.Error("a nil list is an empty one")
 	}
-	for _, other := range []api.Graph{graph(), graph(a("on", "b")), graph(node("b", "1"), a("on", "b")), graph(a("off", "b"), node("b", "1")), graph(a("on"), node("b", "1")), graph(a("on", "b"), node("b", "2")), graph(a("on", "b"), node("c", "1"))} {
+	for _, other := range []api.Graph{graph(), graph(a("on", "b")), graph(testkit.Node("b", "1"), a("on", "b")), graph(a("off", "b"), testkit.Node("b", "1")), graph(a("on"), testkit.Node("b", "1")), graph(a("on", "b"), testkit.Node("b", "2")), graph(a("on", "b"), testkit.Node("c", "1"))} {
 		if Same(g, other) || Same(other, g) {
 			t.Error(other)
 		}
@@ -251,14 +233,14 @@ func TestOrder(t *testing.T) {
 		ok   bool
 	}{
 		{graph(), nil, true},
-		{graph(node("a", "1", "c"), node("b", "1"), node("c", "1")), []int{1, 2, 0}, true},
-		{graph(node("a", "1", "b", "b", "nothing"), node("b", "1", "c"), node("c", "1")), []int{2, 1, 0}, true},
-		{graph(node("a", "1", "d"), node("b", "1"), node("c", "1", "a"), node("d", "1", "b")), []int{1, 3, 0, 2}, true},
-		{graph(node("a", "1", "a")), nil, false},
-		{graph(node("a", "1"), node("b", "1", "c"), node("c", "1", "b")), nil, false},
-		{graph(node("a", "1", "b"), node("a", "2"), node("b", "1")), []int{1, 2, 0}, true},
-		{graph(node("b", "1"), node("b", "2", "b"), node("a", "1", "b")), []int{0, 1, 2}, true},
-		{graph(node("b", "1", "a"), node("b", "2"), node("a", "1", "b")), nil, false},
+		{graph(testkit.Node("a", "1", "c"), testkit.Node("b", "1"), testkit.Node("c", "1")), []int{1, 2, 0}, true},
+		{graph(testkit.Node("a", "1", "b", "b", "nothing"), testkit.Node("b", "1", "c"), testkit.Node("c", "1")), []int{2, 1, 0}, true},
+		{graph(testkit.Node("a", "1", "d"), testkit.Node("b", "1"), testkit.Node("c", "1", "a"), testkit.Node("d", "1", "b")), []int{1, 3, 0, 2}, true},
+		{graph(testkit.Node("a", "1", "a")), nil, false},
+		{graph(testkit.Node("a", "1"), testkit.Node("b", "1", "c"), testkit.Node("c", "1", "b")), nil, false},
+		{graph(testkit.Node("a", "1", "b"), testkit.Node("a", "2"), testkit.Node("b", "1")), []int{1, 2, 0}, true},
+		{graph(testkit.Node("b", "1"), testkit.Node("b", "2", "b"), testkit.Node("a", "1", "b")), []int{0, 1, 2}, true},
+		{graph(testkit.Node("b", "1", "a"), testkit.Node("b", "2"), testkit.Node("a", "1", "b")), nil, false},
 	} {
 		if got, ok := Order(c.g); ok != c.ok || !slices.Equal(got, c.want) {
 			t.Error(i, got, ok)

@@ -16,14 +16,6 @@ func on(names ...string) []api.Depend {
 	return out
 }
 
-func ask(names ...string) api.Request {
-	var q api.Request
-	for _, name := range names {
-		q.Roots = append(q.Roots, api.Root{Spec: api.Spec{Name: name}})
-	}
-	return q
-}
-
 func recipe() api.Recipe {
 	return api.Recipe{
 		Packages: []api.Package{
@@ -49,7 +41,7 @@ func TestClosure(t *testing.T) {
 		{nil, nil}, {[]string{"nothing", ""}, nil}, {[]string{"f"}, []int{0}}, {[]string{"a"}, []int{2, 3, 4, 6}}, {[]string{"v"}, []int{0, 1, 6}},
 		{[]string{"b"}, []int{0, 1, 5, 6}}, {[]string{"w", "f"}, []int{0, 6}}, {[]string{"e"}, []int{1, 6}},
 	} {
-		if got := Closure(x, ask(c.names...)); !slices.Equal(got, c.want) {
+		if got := Closure(x, testkit.AskFor(c.names...)); !slices.Equal(got, c.want) {
 			t.Error(c.names, got, c.want)
 		}
 	}
@@ -60,7 +52,7 @@ func TestNames(t *testing.T) {
 	for _, c := range []struct{ names, want []string }{
 		{nil, nil}, {[]string{"nothing"}, nil}, {[]string{"v"}, []string{"v", "w"}}, {[]string{"a"}, []string{"u"}}, {[]string{"b", "a"}, []string{"u", "v", "w"}}, {[]string{"g", "f", "c"}, []string{"u"}}, {[]string{"w", "w"}, []string{"w"}},
 	} {
-		if got := Names(x, ask(c.names...)); !slices.Equal(got, c.want) {
+		if got := Names(x, testkit.AskFor(c.names...)); !slices.Equal(got, c.want) {
 			t.Error(c.names, got, c.want)
 		}
 	}

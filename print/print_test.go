@@ -29,8 +29,6 @@ prefer v a
 prefer w a b
 `
 
-func set(name, value string) api.Setting { return api.Setting{Name: name, Value: value} }
-
 func TestRecipe(t *testing.T) {
 	scrambled := "prefer v a # first\npackage a\n version 2\nfile bin/a\ndepends b@1: y=on when @2 x=on\nprovides v\nversion 1.rc old\nvariant x on off\nprefer w a b\n" +
 		"conflicts * with b@:1\nprovides w\ndepends b when *\nconflicts x=off\nconflicts @2: x=on with b y=on\n\n\npackage b\nvariant y on\nversion 1"
@@ -99,7 +97,7 @@ func TestRecipesThatMayNotBeWritten(t *testing.T) {
 		"a wish without a name":    {Name: "a", Depends: []api.Depend{{On: always, When: always}}},
 		"a set not in its form":    {Name: "a", Depends: []api.Depend{{On: api.Spec{Name: "b", Spans: []api.Span{{Lo: "1", Hi: "2"}, {Lo: "2"}}}, When: always}}},
 		"a set of none":            {Name: "a", Depends: []api.Depend{{On: api.Spec{Name: "b"}, When: always}}},
-		"settings that fall":       {Name: "a", Depends: []api.Depend{{On: api.Spec{Name: "b", Spans: testkit.All(), Settings: []api.Setting{set("y", "1"), set("x", "1")}}, When: always}}},
+		"settings that fall":       {Name: "a", Depends: []api.Depend{{On: api.Spec{Name: "b", Spans: testkit.All(), Settings: []api.Setting{testkit.Set("y", "1"), testkit.Set("x", "1")}}, When: always}}},
 		"with without a name":      {Name: "a", Conflicts: []api.Conflict{{When: always, With: always}}},
 		"too many words":           {Name: "a", Variants: []api.Variant{{Name: "x", Values: strings.Fields(strings.Repeat("on ", 39))}}},
 	} {
@@ -117,7 +115,7 @@ func TestRecipesThatMayNotBeWritten(t *testing.T) {
 func TestWish(t *testing.T) {
 	for want, s := range map[string]api.Spec{
 		"a":               {Name: "a", Spans: testkit.All()},
-		"a@1:2,5 x=1 y=2": {Name: "a", Spans: []api.Span{{Lo: "1", Hi: "2"}, {Lo: "5", Hi: "5"}}, Settings: []api.Setting{set("x", "1"), set("y", "2")}},
+		"a@1:2,5 x=1 y=2": {Name: "a", Spans: []api.Span{{Lo: "1", Hi: "2"}, {Lo: "5", Hi: "5"}}, Settings: []api.Setting{testkit.Set("x", "1"), testkit.Set("y", "2")}},
 		"a@:2":            {Name: "a", Spans: []api.Span{{Hi: "2"}}},
 	} {
 		if text, ok := Wish(s); !ok || text != want {
@@ -126,8 +124,8 @@ func TestWish(t *testing.T) {
 	}
 	for _, s := range []api.Spec{
 		{}, {Name: "a"}, {Spans: testkit.All()}, {Name: "a\n", Spans: testkit.All()}, {Name: "a#", Spans: testkit.All()}, {Name: "a b=1", Spans: testkit.All()},
-		{Name: "a@1", Spans: testkit.All()}, {Name: "a", Spans: []api.Span{{Lo: "2", Hi: "1"}}}, {Name: "a", Spans: testkit.All(), Settings: []api.Setting{set("x", "1 y=2")}},
-		{Name: "a", Spans: testkit.All(), Settings: []api.Setting{set("x", "")}}, {Name: "a", Spans: []api.Span{{}, {}}},
+		{Name: "a@1", Spans: testkit.All()}, {Name: "a", Spans: []api.Span{{Lo: "2", Hi: "1"}}}, {Name: "a", Spans: testkit.All(), Settings: []api.Setting{testkit.Set("x", "1 y=2")}},
+		{Name: "a", Spans: testkit.All(), Settings: []api.Setting{testkit.Set("x", "")}}, {Name: "a", Spans: []api.Span{{}, {}}},
 	} {
 		if text, ok := Wish(s); ok || text != "" {
 			t.Errorf("%v: %q", s, text)
@@ -138,15 +136,15 @@ func TestWish(t *testing.T) {
 func TestCondition(t *testing.T) {
 	for want, s := range map[string]api.Spec{
 		"*":        {Spans: testkit.All()},
-		"@1: x=on": {Spans: []api.Span{{Lo: "1"}}, Settings: []api.Setting{set("x", "on")}},
-		"x=on":     {Spans: testkit.All(), Settings: []api.Setting{set("x", "on")}},
+		"@1: x=on": {Spans: []api.Span{{Lo: "1"}}, Settings: []api.Setting{testkit.Set("x", "on")}},
+		"x=on":     {Spans: testkit.All(), Settings: []api.Setting{testkit.Set("x", "on")}},
 		"@1":       {Spans: []api.Span{{Lo: "1", Hi: "1"}}},
 	} {
 		if text, ok := Condition(s); !ok || text != want {
 			t.Errorf("%q, want %q", text, want)
 		}
 	}
-	for _, s := range []api.Spec{{}, {Name: "a", Spans: testkit.All()}, {Spans: []api.Span{{Lo: "!"}}}, {Spans: testkit.All(), Settings: []api.Setting{set("X", "1")}}} {
+	for _, s := range []api.Spec{{}, {Name: "a", Spans: testkit.All()}, {Spans: []api.Span{{Lo: "!"}}}, {Spans: testkit.All(), Settings: []api.Setting{testkit.Set("X", "1")}}} {
 		if text, ok := Condition(s); ok || text != "" {
 			t.Errorf("%v: %q", s, text)
 		}
@@ -186,7 +184,7 @@ func TestSame(t *testing.T) {
 }
 
 func TestSameSpec(t *testing.T) {
-	a := api.Spec{Name: "a", Spans: testkit.All(), Settings: []api.Setting{set("x", "1")}}
+	a := api.Spec{Name: "a", Spans: testkit.All(), Settings: []api.Setting{testkit.Set("x", "1")}}
 	if !SameSpec(a, a) || !SameSpec(api.Spec{}, api.Spec{Spans: []api.Span{}, Settings: []api.Setting{}}) || SameSpec(a, api.Spec{}) || SameSpec(a, api.Spec{Name: "a", Spans: testkit.All()}) {
 		t.Error("wishes are the same, if name, versions and settings are")
 	}

@@ -10,11 +10,9 @@ import (
 	"cooper/testkit"
 )
 
-func set(name, value string) api.Setting { return api.Setting{Name: name, Value: value} }
-
 func TestParse(t *testing.T) {
 	want := api.Request{Roots: []api.Root{
-		{Spec: api.Spec{Name: "a", Spans: []api.Span{{Lo: "1"}}, Settings: []api.Setting{set("x", "on")}}, Line: 2},
+		{Spec: api.Spec{Name: "a", Spans: []api.Span{{Lo: "1"}}, Settings: []api.Setting{testkit.Set("x", "on")}}, Line: 2},
 		{Spec: api.Spec{Name: "root", Spans: testkit.All()}, Line: 4},
 		{Spec: api.Spec{Name: "a", Spans: testkit.All()}, Line: 5},
 	}}
@@ -74,19 +72,19 @@ func TestMoreThanATextMayHave(t *testing.T) {
 	}
 	wide := api.Root{Spec: api.Spec{Name: "a", Spans: testkit.All()}}
 	for i := range 38 {
-		wide.Spec.Settings = append(wide.Spec.Settings, set("x"+strconv.Itoa(10+i), "1"))
+		wide.Spec.Settings = append(wide.Spec.Settings, testkit.Set("x"+strconv.Itoa(10+i), "1"))
 	}
 	if _, ok := Text(api.Request{Roots: []api.Root{wide}}); !ok {
 		t.Error("40 words may be")
 	}
-	wide.Spec.Settings = append(wide.Spec.Settings, set("y", "1"))
+	wide.Spec.Settings = append(wide.Spec.Settings, testkit.Set("y", "1"))
 	if text, ok := Text(api.Request{Roots: []api.Root{wide}}); ok || text != "" {
 		t.Error("41 words may not be")
 	}
 	var long api.Request
 	wide.Spec.Settings = nil
 	for i := range 38 {
-		wide.Spec.Settings = append(wide.Spec.Settings, set(strings.Repeat("x", 20)+strconv.Itoa(10+i), "1"))
+		wide.Spec.Settings = append(wide.Spec.Settings, testkit.Set(strings.Repeat("x", 20)+strconv.Itoa(10+i), "1"))
 	}
 	for range 80 {
 		long.Roots = append(long.Roots, wide)

@@ -60,10 +60,8 @@ func TestSigns(t *testing.T) {
 	}
 }
 
-func set(name, value string) api.Setting { return api.Setting{Name: name, Value: value} }
-
 func TestTextAndPath(t *testing.T) {
-	d := api.Derivation{Name: "zlib", Version: "1.2", Settings: []api.Setting{set("x", "on"), set("long", "")}, Inputs: []string{"p:q", "r"}, Path: "plays no part"}
+	d := api.Derivation{Name: "zlib", Version: "1.2", Settings: []api.Setting{testkit.Set("x", "on"), testkit.Set("long", "")}, Inputs: []string{"p:q", "r"}, Path: "plays no part"}
 	if got := Text(d); got != "8:cooper-14:zlib3:1.21:21:x2:on4:long0:1:23:p:q1:r" {
 		t.Error(got)
 	}
@@ -90,7 +88,7 @@ func TestApart(t *testing.T) {
 		pick := func() string { return pieces[dice.Roll(len(pieces))] }
 		d := api.Derivation{Name: pick(), Version: pick()}
 		for range dice.Roll(3) {
-			d.Settings = append(d.Settings, set(pick(), pick()))
+			d.Settings = append(d.Settings, testkit.Set(pick(), pick()))
 		}
 		for range dice.Roll(3) {
 			d.Inputs = append(d.Inputs, pick())
@@ -106,14 +104,10 @@ func TestApart(t *testing.T) {
 	}
 }
 
-func node(name, version string, needs ...string) api.Node {
-	return api.Node{Name: name, Version: version, Needs: needs}
-}
-
 func TestLower(t *testing.T) {
-	g := api.Graph{Nodes: []api.Node{node("a", "1", "c", "b", "c"), {Name: "b", Version: "2", Settings: []api.Setting{set("x", "on")}}, node("c", "3", "b")}}
+	g := api.Graph{Nodes: []api.Node{testkit.Node("a", "1", "c", "b", "c"), {Name: "b", Version: "2", Settings: []api.Setting{testkit.Set("x", "on")}}, testkit.Node("c", "3", "b")}}
 	l, ok := Lower(g)
-	b := api.Derivation{Name: "b", Version: "2", Settings: []api.Setting{set("x", "on")}}
+	b := api.Derivation{Name: "b", Version: "2", Settings: []api.Setting{testkit.Set("x", "on")}}
 	b.Path = Path(b)
 	c := api.Derivation{Name: "c", Version: "3", Inputs: []string{b.Path}}
 	c.Path = Path(c)
@@ -128,7 +122,7 @@ func TestLower(t *testing.T) {
 		t.Error("what is answered is new memory")
 	}
 	for i, g := range []api.Graph{
-		{Nodes: []api.Node{node("a", "1", "a")}}, {Nodes: []api.Node{node("a", "1", "b"), node("b", "1", "a")}}, {Nodes: []api.Node{node("a", "1", "b")}}, {Nodes: []api.Node{node("a", "1"), node("a", "2")}},
+		{Nodes: []api.Node{testkit.Node("a", "1", "a")}}, {Nodes: []api.Node{testkit.Node("a", "1", "b"), testkit.Node("b", "1", "a")}}, {Nodes: []api.Node{testkit.Node("a", "1", "b")}}, {Nodes: []api.Node{testkit.Node("a", "1"), testkit.Node("a", "2")}},
 	} {
 		if l, ok := Lower(g); ok || len(l) != 0 {
 			t.Error(i, l)
@@ -140,7 +134,7 @@ func TestLower(t *testing.T) {
 }
 
 func TestClosed(t *testing.T) {
-	whole, _ := Lower(api.Graph{Nodes: []api.Node{node("a", "1", "b"), node("b", "2")}})
+	whole, _ := Lower(api.Graph{Nodes: []api.Node{testkit.Node("a", "1", "b"), testkit.Node("b", "2")}})
 	if !Closed(whole) || !Closed(nil) || !Closed(whole[:1]) {
 		t.Error("closed")
 	}
@@ -207,16 +201,8 @@ func recipe() api.Recipe {
 	}}
 }
 
-func ask(names ...string) api.Request {
-	var q api.Request
-	for _, name := range names {
-		q.Roots = append(q.Roots, api.Root{Spec: api.Spec{Name: name, Spans: testkit.All()}})
-	}
-	return q
-}
-
 func TestEnvironment(t *testing.T) {
-	g := api.Graph{Nodes: []api.Node{node("a", "1", "b"), node("b", "1"), node("c", "1"), node("z", "1")}}
+	g := api.Graph{Nodes: []api.Node{testkit.Node("a", "1", "b"), testkit.Node("b", "1"), testkit.Node("c", "1"), testkit.Node("z", "1")}}
 	l, _ := Lower(g)
 	path := func(name string) string {
 		return l[slices.IndexFunc(l, func(d api.Derivation) bool { return d.Name == name })].Path
@@ -227,29 +213,29 @@ func TestEnvironment(t *testing.T) {
 		clash string
 		ok    bool
 	}{
-		{ask("a"), []api.Link{{File: "bin/a", Path: path("a")}, {File: "m", Path: path("b")}, {File: "z", Path: path("a")}}, "", true},
-		{ask("v"), []api.Link{{File: "m", Path: path("b")}}, "", true},
-		{ask("c"), []api.Link{{File: "m", Path: path("c")}, {File: "z", Path: path("c")}}, "", true},
-		{ask("d", "z", "nothing"), nil, "", true},
-		{ask(), nil, "", true},
-		{ask("a", "c"), nil, "m", false},
-		{ask("c", "v"), nil, "m", false},
+		{testkit.AskFor("a"), []api.Link{{File: "bin/a", Path: path("a")}, {File: "m", Path: path("b")}, {File: "z", Path: path("a")}}, "", true},
+		{testkit.AskFor("v"), []api.Link{{File: "m", Path: path("b")}}, "", true},
+		{testkit.AskFor("c"), []api.Link{{File: "m", Path: path("c")}, {File: "z", Path: path("c")}}, "", true},
+		{testkit.AskFor("d", "z", "nothing"), nil, "", true},
+		{testkit.AskFor(), nil, "", true},
+		{testkit.AskFor("a", "c"), nil, "m", false},
+		{testkit.AskFor("c", "v"), nil, "m", false},
 	} {
 		links, clash, ok := Environment(recipe(), c.q, g)
 		if !slices.Equal(links, c.want) || clash != c.clash || ok != c.ok {
 			t.Error(i, links, clash, ok)
 		}
 	}
-	broken := api.Graph{Nodes: []api.Node{node("a", "1", "b"), node("b", "1", "a")}}
-	if links, clash, ok := Environment(recipe(), ask("a"), broken); ok || clash != "" || len(links) != 0 {
+	broken := api.Graph{Nodes: []api.Node{testkit.Node("a", "1", "b"), testkit.Node("b", "1", "a")}}
+	if links, clash, ok := Environment(recipe(), testkit.AskFor("a"), broken); ok || clash != "" || len(links) != 0 {
 		t.Error("a graph that can't be lowered", links, clash)
 	}
-	missing := api.Graph{Nodes: []api.Node{node("a", "1", "b")}}
-	if links, clash, ok := Environment(recipe(), ask("a"), missing); ok || clash != "" || len(links) != 0 {
+	missing := api.Graph{Nodes: []api.Node{testkit.Node("a", "1", "b")}}
+	if links, clash, ok := Environment(recipe(), testkit.AskFor("a"), missing); ok || clash != "" || len(links) != 0 {
 		t.Error("a graph that can't be lowered", links, clash)
 	}
-	both := api.Graph{Nodes: []api.Node{node("a", "1", "c"), node("c", "1", "a")}}
-	if links, clash, ok := Environment(recipe(), ask("a"), both); ok || clash != "z" || len(links) != 0 {
+	both := api.Graph{Nodes: []api.Node{testkit.Node("a", "1", "c"), testkit.Node("c", "1", "a")}}
+	if links, clash, ok := Environment(recipe(), testkit.AskFor("a"), both); ok || clash != "z" || len(links) != 0 {
 		t.Error("the clash is named first", links, clash)
 	}
 }
