@@ -20,7 +20,7 @@ func good() api.Recipe {
 				Files:     []string{"f"},
 			},
 			{Name: "b", Line: 6, Releases: []api.Release{{Version: "1"}}, Variants: []api.Variant{{Name: "y", Values: []string{"1", "2"}}}, Provides: []string{"v", "w"}, Files: []string{"f"}},
-			{Name: "c", Line: 7, Releases: []api.Release{{Version: "1"}}, Provides: []string{"a", "v"}},
+			{Name: "c", Line: 7, Releases: []api.Release{{Version: "1"}}, Provides: []string{"u", "v"}},
 		},
 		Prefers: []api.Prefer{{Virtual: "v", Names: []string{"c", "b"}, Line: 8}, {Virtual: "w", Line: 9}},
 	}
@@ -68,6 +68,9 @@ func TestRecipe(t *testing.T) {
 	}{
 		{func(x *api.Recipe) { x.Packages[2].Name = "b" }, api.Problem{Code: api.SameName, Line: 7}},
 		{func(x *api.Recipe) { x.Packages[1].Provides[1] = "b" }, api.Problem{Code: api.NameClash, Line: 6}},
+		{func(x *api.Recipe) { x.Packages[1].Provides[1] = "c" }, api.Problem{Code: api.NameClash, Line: 7}},
+		{func(x *api.Recipe) { x.Packages[2].Provides[0] = "a" }, api.Problem{Code: api.NameClash, Line: 1}},
+		{func(x *api.Recipe) { x.Packages[2].Provides[0] = "A" }, api.Problem{}},
 		{func(x *api.Recipe) { x.Packages[1].Releases = nil }, api.Problem{Code: api.NoRelease, Line: 6}},
 		{func(x *api.Recipe) { x.Packages[1].Releases = releases(11) }, api.Problem{Code: api.TooMany, Line: 6}},
 		{func(x *api.Recipe) { x.Packages[1].Releases = releases(10) }, api.Problem{}},
@@ -144,20 +147,53 @@ func TestTooManyPackages(t *testing.T) {
 	}
 }
 
+// TestNameClash: which package of the recipe provides a package's name makes no difference, nor which one stands ahead.
+func TestNameClash(t *testing.T) {
+	one := releases(1)
+	provider := func(name string, l ...string) api.Package {
+		return api.Package{Name: name, Line: 20, Releases: one, Provides: l}
+	}
+	plain := func(name string, line int) api.Package {
+		return api.Package{Name: name, Line: line, Releases: one}
+	}
+	empty := func(name string, line int) api.Package { return api.Package{Name: name, Line: line} }
+	for i, c := range []struct {
+		packages []api.Package
+		want     api.Problem
+	}{
+		{[]api.Package{provider("a", "b"), plain("b", 4)}, api.Problem{Code: api.NameClash, Line: 4}},
+		{[]api.Package{plain("b", 1), provider("a", "b")}, api.Problem{Code: api.NameClash, Line: 1}},
+		{[]api.Package{provider("a", "a")}, api.Problem{Code: api.NameClash, Line: 20}},
+		{[]api.Package{provider("a", "v", "w", "b"), plain("c", 2), plain("b", 3)}, api.Problem{Code: api.NameClash, Line: 3}},
+		{[]api.Package{plain("b", 1), plain("c", 2), provider("a", "c", "b")}, api.Problem{Code: api.NameClash, Line: 1}},
+		{[]api.Package{provider("a", "b"), empty("b", 4)}, api.Problem{Code: api.NameClash, Line: 4}},
+		{[]api.Package{empty("c", 1), provider("a", "b"), plain("b", 4)}, api.Problem{Code: api.NoRelease, Line: 1}},
+		{[]api.Package{provider("a", "b", "b"), plain("b", 4)}, api.Problem{Code: api.SameThing, Line: 20}},
+		{[]api.Package{plain("b", 4), provider("a", "b", "b")}, api.Problem{Code: api.NameClash, Line: 4}},
+		{[]api.Package{plain("c", 1), plain("c", 2), provider("a", "c")}, api.Problem{Code: api.NameClash, Line: 1}},
+		{[]api.Package{plain("c", 1), plain("c", 2), provider("a", "d"), plain("d", 5)}, api.Problem{Code: api.SameName, Line: 2}},
+		{[]api.Package{provider("a", "b"), provider("c", "b"), plain("d", 1)}, api.Problem{}},
+	} {
+		if got := Recipe(api.Recipe{Packages: c.packages}); got != c.want {
+			t.Error(i, got, c.want)
+		}
+	}
+}
+
 // TestTheOrder gives a recipe all problems, and takes them away one by one.
 func TestTheOrder(t *testing.T) {
 	x := good()
 	x.Packages[0].Depends[0].On.Name = "z"
 	x.Prefers[0].Virtual = "z"
 	p := &x.Packages[2]
-	p.Name, p.Provides, p.Releases = "b", []string{"b", "v", "v"}, nil
+	p.Name, p.Provides, p.Releases = "b", []string{"c", "v", "v"}, nil
 	p.Files, p.Variants = many(9), []api.Variant{{Name: "X"}}
 	for i, step := range []struct {
 		mend func()
 		want api.Problem
 	}{
 		{func() {}, api.Problem{Code: api.SameName, Line: 7}},
-		{func() { p.Name = "c"; p.Provides[0] = "c" }, api.Problem{Code: api.NameClash, Line: 7}},
+		{func() { p.Name = "c" }, api.Problem{Code: api.NameClash, Line: 7}},
 		{func() { p.Provides[0] = "u" }, api.Problem{Code: api.NoRelease, Line: 7}},
 		{func() { p.Releases = slices.Repeat(releases(1), 2) }, api.Problem{Code: api.TooMany, Line: 7}},
 		{func() { p.Files = nil }, api.Problem{Code: api.SameThing, Line: 7}},
@@ -213,6 +249,7 @@ func TestRequest(t *testing.T) {
 
 func TestNames(t *testing.T) {
 	x := good()
+	x.Packages[2].Provides[0] = "a"
 	x.Packages = append(x.Packages, api.Package{Name: "b", Provides: []string{"v", "v"}})
 	if Find(x, "b") != 1 || Find(x, "z") != -1 || Find(api.Recipe{}, "") != -1 {
 		t.Error("Find")

@@ -140,6 +140,7 @@ func TestWrongTexts(t *testing.T) {
 		{good, "root a b", "x", api.Outcome{Kind: api.ParseError, In: 2, Err: api.ErrParse, At: api.Where{Line: 1, Col: 8}}, "parse 2 2 1 8\n"},
 		{"package a\n", "", "lock 1", api.Outcome{Kind: api.ParseError, In: 3, Err: api.ErrParse, At: api.Where{Line: 2}}, "parse 3 2 2 0\n"},
 		{"package a\n", "", "lock 1\n", api.Outcome{Kind: api.IllFormed, In: 1, Problem: api.Problem{Code: api.NoRelease, Line: 1}}, "form 1 4 1\n"},
+		{good + "provides b\npackage b\nversion 1\n", "root a", "", api.Outcome{Kind: api.IllFormed, In: 1, Problem: api.Problem{Code: api.NameClash, Line: 4}}, "form 1 3 4\n"},
 		{good, "# none", "lock 1\n", api.Outcome{Kind: api.IllFormed, In: 2, Problem: api.Problem{Code: api.NoRoot}}, "form 2 11 0\n"},
 		{good, "\nroot z", "", api.Outcome{Kind: api.IllFormed, In: 2, Problem: api.Problem{Code: api.Unknown, Line: 2}}, "form 2 7 2\n"},
 		{good, "root a", "lock 1\n", api.Outcome{Kind: api.StaleLock, Breach: api.Breach{Code: api.BreachRoot, Name: "a"}}, "stale 4 a\n"},

@@ -75,6 +75,11 @@ func TestErrors(t *testing.T) {
 	if f, err := Build(broken, testkit.AskFor("a"), 100); f != nil || err != api.ErrForm {
 		t.Error(err)
 	}
+	clash := api.Recipe{Packages: []api.Package{pack("a"), pack("b")}}
+	clash.Packages[0].Provides = []string{"b"}
+	if f, err := Build(clash, testkit.AskFor("a"), 100); f != nil || err != api.ErrForm {
+		t.Error("a package's name is provided", err)
+	}
 	n := build(t, x, testkit.AskFor("a")).Atoms()
 	for _, limit := range []int{n - 1, 1, 0, -5} {
 		if f, err := Build(x, testkit.AskFor("a"), limit); f != nil || err != api.ErrLarge {

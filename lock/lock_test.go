@@ -141,6 +141,7 @@ func TestAgain(t *testing.T) {
 func TestErrorsOfAgain(t *testing.T) {
 	x := api.Recipe{Packages: []api.Package{{Name: "a", Releases: []api.Release{{Version: "1"}}}}}
 	q := api.Request{Roots: []api.Root{{Spec: api.Spec{Name: "a", Spans: testkit.All()}}}}
+	clash := api.Recipe{Packages: []api.Package{x.Packages[0], {Name: "b", Releases: x.Packages[0].Releases, Provides: []string{"a"}}}}
 	for i, c := range []struct {
 		x      api.Recipe
 		q      api.Request
@@ -150,6 +151,7 @@ func TestErrorsOfAgain(t *testing.T) {
 	}{
 		{x, api.Request{}, "", api.Breach{}, api.ErrForm},
 		{api.Recipe{}, q, "lock 1\n", api.Breach{}, api.ErrForm},
+		{clash, q, "lock 1\nnode a 1\n", api.Breach{}, api.ErrForm},
 		{x, q, "", api.Breach{}, api.ErrParse},
 		{x, q, "lock 1\nnode a 1", api.Breach{}, api.ErrParse},
 		{x, q, "lock 1\n", api.Breach{Code: api.BreachRoot, Name: "a"}, api.ErrStale},
